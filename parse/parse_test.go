@@ -113,13 +113,13 @@ func TestTreeTellsOperands(t *testing.T) {
 }
 
 // Each row is one rank, those that bind least first.
-var ranks = []string{"||", "&&", "== != < <= > >=", "|", "^", "&", "<< >>", "+ -", "* / %"}
+var rankSigns = []string{"||", "&&", "== != < <= > >=", "|", "^", "&", "<< >>", "+ -", "* / %"}
 
 func TestTreeTellsEachTwoSignsSideBySide(t *testing.T) {
-	for one, row := range ranks {
+	for one, row := range rankSigns {
 		for _, first := range strings.Fields(row) {
 			wantTree(t, "a"+first+"b", "bin:"+first+"@1(var:a@0 var:b@"+strconv.Itoa(1+len(first))+")")
-			for other, row := range ranks {
+			for other, row := range rankSigns {
 				for _, second := range strings.Fields(row) {
 					wantTwoSigns(t, first, second, one, other)
 				}

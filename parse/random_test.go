@@ -86,7 +86,7 @@ func (m *maker) typed(room int) api.Type {
 }
 
 func (m *maker) tree(rank, room int, w where) api.Expr {
-	if rank == len(ranks) {
+	if rank == len(rankSigns) {
 		return m.cast(room, w)
 	}
 	if room <= 0 || !m.often(7) {
@@ -96,7 +96,7 @@ func (m *maker) tree(rank, room int, w where) api.Expr {
 	if rank == 2 {
 		left++
 	}
-	x := api.Expr{Kind: api.ExBin, Text: m.one(strings.Fields(ranks[rank])...)}
+	x := api.Expr{Kind: api.ExBin, Text: m.one(strings.Fields(rankSigns[rank])...)}
 	x.Kids = append(x.Kids, m.tree(left, room-1, w))
 	x.At = m.put(x.Text)
 	x.Kids = append(x.Kids, m.tree(rank+1, room-1, where{cond: w.cond}))

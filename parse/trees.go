@@ -1,51 +1,22 @@
 package parse
 
-import "ferrule/api"
-
-// The ranks of signs, from those that bind least on; of comparisons there is one at most.
-const (
-	rankFirst   = 1
-	rankCompare = 3
-	rankLast    = 9
+import (
+	"ferrule/api"
+	"ferrule/ranks"
 )
 
-// rankOf tells a sign's rank; 0, if it stands between no operands.
-func rankOf(sign string) int {
-	switch sign {
-	case "||":
-		return rankFirst
-	case "&&":
-		return 2
-	case "==", "!=", "<", "<=", ">", ">=":
-		return rankCompare
-	case "|":
-		return 4
-	case "^":
-		return 5
-	case "&":
-		return 6
-	case "<<", ">>":
-		return 7
-	case "+", "-":
-		return 8
-	case "*", "/", "%":
-		return rankLast
-	}
-	return 0
-}
-
-func (p *parser) tree() api.Expr { return p.ranked(rankFirst) }
+func (p *parser) tree() api.Expr { return p.ranked(ranks.First) }
 
 // ranked reads operands with signs of a rank, and of those that bind more, between.
 func (p *parser) ranked(rank int) api.Expr {
-	if rank > rankLast {
+	if rank > ranks.Last {
 		return p.casts()
 	}
 	x := p.ranked(rank + 1)
-	for rankOf(p.ahead().Text) == rank {
+	for ranks.Of(p.ahead().Text) == rank {
 		sign := p.take()
 		x = api.Expr{Kind: api.ExBin, At: sign.At, Text: sign.Text, Kids: []api.Expr{x, p.ranked(rank + 1)}}
-		if rank == rankCompare {
+		if rank == ranks.Compare {
 			break
 		}
 	}
