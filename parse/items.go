@@ -14,9 +14,15 @@ func (p *parser) item() api.Item {
 	return p.constant()
 }
 
+// head reads the word and the name that an item begins with. Unlike a tree, what is known by its name stands where that does: an item, a param, a field and a variant.
+func (p *parser) head(word string, kind int) api.Item {
+	p.need(word)
+	name := p.needName()
+	return api.Item{Kind: kind, Name: name.Text, At: name.At}
+}
+
 func (p *parser) function() api.Item {
-	item := api.Item{Kind: api.ItFunc, At: p.need("fn").At}
-	item.Name = p.needName().Text
+	item := p.head("fn", api.ItFunc)
 	p.need("(")
 	p.list(")", func() { item.Params = append(item.Params, p.param()) })
 	item.Type = api.Type{Kind: api.TyUnit}
@@ -28,24 +34,21 @@ func (p *parser) function() api.Item {
 }
 
 func (p *parser) structure() api.Item {
-	item := api.Item{Kind: api.ItStruct, At: p.need("struct").At}
-	item.Name = p.needName().Text
+	item := p.head("struct", api.ItStruct)
 	p.need("{")
 	p.list("}", func() { item.Params = append(item.Params, p.field()) })
 	return item
 }
 
 func (p *parser) enumeration() api.Item {
-	item := api.Item{Kind: api.ItEnum, At: p.need("enum").At}
-	item.Name = p.needName().Text
+	item := p.head("enum", api.ItEnum)
 	p.need("{")
 	p.list("}", func() { item.Variants = append(item.Variants, p.variant()) })
 	return item
 }
 
 func (p *parser) constant() api.Item {
-	item := api.Item{Kind: api.ItConst, At: p.need("const").At}
-	item.Name = p.needName().Text
+	item := p.head("const", api.ItConst)
 	p.need(":")
 	item.Type = p.needType()
 	p.need("=")
@@ -54,12 +57,11 @@ func (p *parser) constant() api.Item {
 	return item
 }
 
-// param reads a field with mut ahead of it, if one likes; it begins with that.
+// param reads a field with mut ahead of it, if one likes.
 func (p *parser) param() api.Param {
-	at := p.ahead().At
 	mut := p.took("mut")
 	param := p.field()
-	param.At, param.Mut = at, mut
+	param.Mut = mut
 	return param
 }
 

@@ -368,11 +368,11 @@ func (m *maker) let(room int) api.Expr {
 }
 
 func (m *maker) field(mut bool) api.Param {
-	p := api.Param{Name: m.name(), Mut: mut, At: len(m.tokens)}
+	p := api.Param{Name: m.name(), Mut: mut}
 	if mut {
 		m.put("mut")
 	}
-	m.put(p.Name)
+	p.At = m.put(p.Name)
 	m.put(":")
 	p.Type = m.typed(4)
 	return p
@@ -380,8 +380,8 @@ func (m *maker) field(mut bool) api.Param {
 
 func (m *maker) item(room int) api.Item {
 	it := api.Item{Kind: 1 + m.chance.Intn(4), Name: m.name()}
-	it.At = m.put(itemKinds[it.Kind])
-	m.put(it.Name)
+	m.put(itemKinds[it.Kind])
+	it.At = m.put(it.Name)
 	switch it.Kind {
 	case api.ItFunc:
 		m.put("(")

@@ -108,7 +108,7 @@ func wantItems(t *testing.T, text, want string) {
 // wantBody asks what the one function of a text does.
 func wantBody(t *testing.T, text, want string) {
 	t.Helper()
-	wantItems(t, "fn f() "+text, "fn:f@0->unit "+want)
+	wantItems(t, "fn f() "+text, "fn:f@3->unit "+want)
 }
 
 func wantTreeFault(t *testing.T, text string, wantAt int, want api.Errno) {
