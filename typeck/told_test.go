@@ -18,34 +18,31 @@ func TestExamples(t *testing.T) {
 // TestLeaves: numbers, bools and unit, with a type wanted and without one.
 func TestLeaves(t *testing.T) {
 	for body, want := range map[string]string{
-		"5;":              "stmt:(){int#5:i32}",
-		"5u16;":           "stmt:(){int'u16'#5:u16}",
-		"let x: u8 = 5;":  "let'x'<u8>:(){int#5:u8}",
-		"let x: i8 = 5;":  "let'x'<i8>:(){int#5:i8}",
-		"true; false;":    "stmt:(){bool#1:bool} stmt:(){bool:bool}",
-		"();":             "stmt:(){unit:()}",
-		"let x: () = ();": "let'x'<()>:(){unit:()}",
-		"()":              "unit:()",
-		"let x: u32 = 7;": "let'x'<u32>:(){int#7:u32}",
-		"5 as u8;":        "stmt:(){cast<u8>:u8{int#5:i32}}",
-		"true as i16;":    "stmt:(){cast<i16>:i16{bool#1:bool}}",
-		"K; M;":           "stmt:(){int#-7:i16} stmt:(){int#4000000000:u32}",
-		"let x: i16 = K;": "let'x'<i16>:(){int#-7:i16}",
-		"-K;":             "stmt:(){neg:i16{int#-7:i16}}",
-		"let x = -5;":     "let'x':(){int#-5:i32}",
-		"let x: i8 = -5;": "let'x'<i8>:(){int#-5:i8}",
-		"-5i16;":          "stmt:(){int#-5:i16}",
-		"-0;":             "stmt:(){int:i32}",
-		"--5;":            "stmt:(){neg:i32{int#-5:i32}}",
-		"-(5);":           "stmt:(){int#-5:i32}",
-		"let x: i8=-(-5)": "let'x'<i8>:(){neg:i8{int#-5:i8}}",
-		"!5; !true;":      "stmt:(){not:i32{int#5:i32}} stmt:(){not:bool{bool#1:bool}}",
-		"let x: u8 = !5;": "let'x'<u8>:(){not:u8{int#5:u8}}",
-		"-(1 + 2);":       "stmt:(){neg:i32{bin'+':i32{int#1:i32 int#2:i32}}}",
+		"5;":                 "stmt:(){int#5:i32}",
+		"5u16;":              "stmt:(){int'u16'#5:u16}",
+		"let x: u8 = 5;":     "let'x'<u8>:(){int#5:u8}",
+		"let x: i8 = 5;":     "let'x'<i8>:(){int#5:i8}",
+		"true; false;":       "stmt:(){bool#1:bool} stmt:(){bool:bool}",
+		"();":                "stmt:(){unit:()}",
+		"let x: () = ();":    "let'x'<()>:(){unit:()}",
+		"()":                 "unit:()",
+		"let x: u32 = 7;":    "let'x'<u32>:(){int#7:u32}",
+		"5 as u8;":           "stmt:(){cast<u8>:u8{int#5:i32}}",
+		"true as i16;":       "stmt:(){cast<i16>:i16{bool#1:bool}}",
+		"K; M;":              "stmt:(){int#-7:i16} stmt:(){int#4000000000:u32}",
+		"let x: i16 = K;":    "let'x'<i16>:(){int#-7:i16}",
+		"-K;":                "stmt:(){neg:i16{int#-7:i16}}",
+		"let x = -5;":        "let'x':(){int#-5:i32}",
+		"let x: i8 = -5;":    "let'x'<i8>:(){int#-5:i8}",
+		"-5i16;":             "stmt:(){int#-5:i16}",
+		"-0;":                "stmt:(){int:i32}",
+		"--5;":               "stmt:(){neg:i32{int#-5:i32}}",
+		"-(5);":              "stmt:(){int#-5:i32}",
+		"let x: i8 = -(-5);": "let'x'<i8>:(){neg:i8{int#-5:i8}}",
+		"!5; !true;":         "stmt:(){not:i32{int#5:i32}} stmt:(){not:bool{bool#1:bool}}",
+		"let x: u8 = !5;":    "let'x'<u8>:(){not:u8{int#5:u8}}",
+		"-(1 + 2);":          "stmt:(){neg:i32{bin'+':i32{int#1:i32 int#2:i32}}}",
 	} {
-		if !strings.HasSuffix(body, ";") && strings.HasPrefix(body, "let") {
-			body += ";"
-		}
 		wantMain(t, body, want)
 	}
 }
@@ -131,23 +128,23 @@ func TestSigns(t *testing.T) {
 // TestBareNumbers: where such a number takes its type from the other one of its pair.
 func TestBareNumbers(t *testing.T) {
 	for body, want := range map[string]string{
-		"3u8 + 1 + 2;":          "stmt:(){bin'+':u8{bin'+':u8{int'u8'#3:u8 int#1:u8} int#2:u8}}",
-		"1 + (2 + 3u8);":        "stmt:(){bin'+':u8{int#1:u8 bin'+':u8{int#2:u8 int'u8'#3:u8}}}",
-		"(2 + 3u8) + 1;":        "stmt:(){bin'+':u8{bin'+':u8{int#2:u8 int'u8'#3:u8} int#1:u8}}",
-		"-1 < K;":               "stmt:(){bin'<':bool{int#-1:i16 int#-7:i16}}",
-		"K < -1;":               "stmt:(){bin'<':bool{int#-7:i16 int#-1:i16}}",
-		"-1 == 2i8;":            "stmt:(){bin'==':bool{int#-1:i8 int'i8'#2:i8}}",
-		"--1 == 2i8;":           "stmt:(){bin'==':bool{neg:i8{int#-1:i8} int'i8'#2:i8}}",
-		"-1 == -2;":             "stmt:(){bin'==':bool{int#-1:i32 int#-2:i32}}",
-		"1 == -2i16;":           "stmt:(){bin'==':bool{int#1:i16 int#-2:i16}}",
-		"1 == { 2u8 };":         "stmt:(){bin'==':bool{int#1:u8 block#1:u8{int'u8'#2:u8}}}",
-		"200u8 > 1;":            "stmt:(){bin'>':bool{int'u8'#200:u8 int#1:u8}}",
-		"255 == 1u8;":           "stmt:(){bin'==':bool{int#255:u8 int'u8'#1:u8}}",
-		"let x: bool = 1 < 2u8": "let'x'<bool>:(){bin'<':bool{int#1:u8 int'u8'#2:u8}}",
-		"M ^ 1; 1 ^ M;":         "stmt:(){bin'^':u32{int#4000000000:u32 int#1:u32}} stmt:(){bin'^':u32{int#1:u32 int#4000000000:u32}}",
-		"1 == 2u8 + 3;":         "stmt:(){bin'==':bool{int#1:u8 bin'+':u8{int'u8'#2:u8 int#3:u8}}}",
+		"3u8 + 1 + 2;":           "stmt:(){bin'+':u8{bin'+':u8{int'u8'#3:u8 int#1:u8} int#2:u8}}",
+		"1 + (2 + 3u8);":         "stmt:(){bin'+':u8{int#1:u8 bin'+':u8{int#2:u8 int'u8'#3:u8}}}",
+		"(2 + 3u8) + 1;":         "stmt:(){bin'+':u8{bin'+':u8{int#2:u8 int'u8'#3:u8} int#1:u8}}",
+		"-1 < K;":                "stmt:(){bin'<':bool{int#-1:i16 int#-7:i16}}",
+		"K < -1;":                "stmt:(){bin'<':bool{int#-7:i16 int#-1:i16}}",
+		"-1 == 2i8;":             "stmt:(){bin'==':bool{int#-1:i8 int'i8'#2:i8}}",
+		"--1 == 2i8;":            "stmt:(){bin'==':bool{neg:i8{int#-1:i8} int'i8'#2:i8}}",
+		"-1 == -2;":              "stmt:(){bin'==':bool{int#-1:i32 int#-2:i32}}",
+		"1 == -2i16;":            "stmt:(){bin'==':bool{int#1:i16 int#-2:i16}}",
+		"1 == { 2u8 };":          "stmt:(){bin'==':bool{int#1:u8 block#1:u8{int'u8'#2:u8}}}",
+		"200u8 > 1;":             "stmt:(){bin'>':bool{int'u8'#200:u8 int#1:u8}}",
+		"255 == 1u8;":            "stmt:(){bin'==':bool{int#255:u8 int'u8'#1:u8}}",
+		"let x: bool = 1 < 2u8;": "let'x'<bool>:(){bin'<':bool{int#1:u8 int'u8'#2:u8}}",
+		"M ^ 1; 1 ^ M;":          "stmt:(){bin'^':u32{int#4000000000:u32 int#1:u32}} stmt:(){bin'^':u32{int#1:u32 int#4000000000:u32}}",
+		"1 == 2u8 + 3;":          "stmt:(){bin'==':bool{int#1:u8 bin'+':u8{int'u8'#2:u8 int#3:u8}}}",
 	} {
-		wantMain(t, strings.TrimSuffix(body, ";")+";", want)
+		wantMain(t, body, want)
 	}
 	// What is not bare is not changed: a block, a sum, a number within another tree.
 	wantWrongMain(t, api.ErrType, "({ 1 }) == @2u8;", "1 + 2 == @3u8;", "1 + 2 + @3u8;", "!1 == @2u8;", "1 as i32 == @2u8;", "@-1 == 2u8;", "@-1 + 2u8;", "1u8 == @-2;", "1i32 == @2u8;", "let x = 1; x == @2u8;")
