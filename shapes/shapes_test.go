@@ -70,6 +70,15 @@ func TestFieldsWithMeaning(t *testing.T) {
 	}
 }
 
+func TestIsPlace(t *testing.T) {
+	for kind := -1; kind <= api.ExStmt+1; kind++ {
+		want := kind == api.ExVar || kind == api.ExField || kind == api.ExIndex || kind == api.ExDeref
+		if shapes.IsPlace(kind) != want {
+			t.Errorf("%d: %t", kind, !want)
+		}
+	}
+}
+
 // Typed is asked more in the tests of the layers that lean on it: here, whether it takes what typeck tells, and nothing of parse.
 func TestTyped(t *testing.T) {
 	l, _, e := parse.Parse("struct P { a: u8, b: [i8; 2] } enum E { A, B(u8) } fn f(p: &mut P, mut n: u8) -> u8 { p.a = n; g(&p.b[0]); match E::B(1) { E::B(x) => x, _ => { return 2; } } } fn g(r: &i8) {} fn main() { while true { if false { break; } else if !true { continue; } } loop {} }")

@@ -50,10 +50,10 @@ func (g *glance) hasRoom(kind int) bool {
 func askedOf(x *api.Expr, k int) func(kind int) bool {
 	switch x.Kind {
 	case api.ExDeref, api.ExField, api.ExBorrow:
-		return isPlace
+		return IsPlace
 	case api.ExIndex, api.ExAssign:
 		if k == 0 {
-			return isPlace
+			return IsPlace
 		}
 	case api.ExCall:
 		return func(kind int) bool { return isValue(kind) || kind == api.ExBorrow }
@@ -101,8 +101,8 @@ func just(asked int) func(kind int) bool {
 
 func isType(kind int) bool { return api.TyUnit <= kind && kind <= api.TyNever }
 
-// isPlace tells whether typed trees of a kind are places.
-func isPlace(kind int) bool {
+// IsPlace tells whether typed trees of a kind are places.
+func IsPlace(kind int) bool {
 	switch kind {
 	case api.ExVar, api.ExField, api.ExIndex, api.ExDeref:
 		return true
