@@ -54,7 +54,7 @@ func (r *run) assign(f *frame) {
 		r.beginPlace(&f.x.Kids[0])
 	default:
 		v, to := r.given(f)[0], r.given(f)[1].to
-		r.letGo(to)
+		r.letGo(*to)
 		put(to, v)
 		r.give(unitValue())
 	}
@@ -62,7 +62,7 @@ func (r *run) assign(f *frame) {
 
 func (r *run) statement(f *frame) {
 	if r.ready(f) {
-		r.letGo(&r.given(f)[0])
+		r.letGo(r.given(f)[0])
 		r.give(unitValue())
 	}
 }

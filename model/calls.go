@@ -100,9 +100,9 @@ func (r *run) read(args []value) value {
 }
 
 func (r *run) unbox(args []value) value {
-	must(args[0].kind == aBox && args[0].to.kind != nothing)
-	r.live[args[0].n]--
-	return take(args[0].to)
+	must(args[0].kind == aBox && args[0].box.held.kind != nothing)
+	r.free(args[0].box)
+	return args[0].box.held.apart()
 }
 
 func (r *run) replace(args []value) value {

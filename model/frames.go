@@ -127,8 +127,7 @@ func (r *run) cut(n int) {
 	outermost := r.trees[n]
 	r.trees = r.trees[:n]
 	r.values = r.values[:outermost.values]
-	for at := len(r.variables) - 1; at >= outermost.variables; at-- {
-		r.letGo(r.variables[at])
+	for len(r.variables) > outermost.variables {
+		r.undeclare()
 	}
-	r.variables = r.variables[:outermost.variables]
 }

@@ -54,8 +54,7 @@ func (r *run) box(f *frame) {
 		end(api.OutMemory, 0)
 	}
 	r.live[class]++
-	in := r.last()
-	r.give(value{kind: aBox, n: class, to: &in})
+	r.give(value{kind: aBox, box: &boxed{class: class, held: r.last()}})
 }
 
 func (r *run) array(f *frame) {

@@ -10,12 +10,14 @@ import (
 // made are the items that programs made by chance have beside their functions.
 const made = `struct P { a: i32, b: u8 } struct Q { k: Box<i32>, p: P, n: u16 } struct W { e: E, a: [i32; 3], f: F }
 enum E { N, A(i32), B(Box<i32>, u8), C(P, Box<P>) } enum F { X, Y(i8), Z(u32, bool) } enum L { N, C(i32, Box<L>) } const K: i32 = 7;
+fn i32_lent(x: &mut i32, y: &i32) -> i32 { print(*x); replace(x, *y) } fn P_lent(x: &mut P, y: &i32) -> P { print(x.b); x.a = *y; print(x.a); *x } fn Q_lent(x: &mut Q, y: &i32) -> Q { print(*x.k); x.k = Box::new(*y); let p = x.p; let q = replace(x, Q { k: Box::new(5), p: p, n: 3 }); print(*q.k + *x.k); q }
+fn box_i32_lent(x: &mut Box<i32>, y: &i32) -> Box<i32> { print(**x); let b = replace(x, Box::new(*y)); print(*b); print(**x); b } fn E_lent(x: &mut E, y: &i32) -> E { replace(x, E::B(Box::new(*y), 1)) } fn L_lent(x: &mut L, y: &i32) -> L { let l = replace(x, L::N); *x = L::C(*y, Box::new(L::N)); l }
 `
 
 // The types that values are made of: those that are copied come first.
 var (
 	copiedTypes = []string{"i32", "i32", "i32", "u8", "i8", "u16", "i16", "u32", "bool", "()", "P", "F", "[i32; 3]", "[P; 2]", "[F; 2]"}
-	movedTypes  = []string{"Box<i32>", "Box<i32>", "Box<P>", "Box<Box<i32>>", "Box<[i32; 20]>", "Q", "W", "E", "E", "L", "L", "[Box<i32>; 2]", "[E; 2]", "Box<Q>"}
+	movedTypes  = []string{"Box<i32>", "Box<i32>", "Box<P>", "Box<Box<i32>>", "Box<[i32; 20]>", "Q", "W", "E", "E", "L", "L", "[Box<i32>; 2]", "[E; 2]", "Box<Q>", "Box<L>", "Box<E>"}
 	lentTypes   = []string{"&i32", "&mut i32", "&P", "&mut P", "&mut Q", "&Q", "&mut Box<i32>", "&mut L", "&mut E", "&[i32; 3]", "&mut [i32; 3]", "&mut W", "&mut [Box<i32>; 2]"}
 	intTypes    = []string{"i8", "i16", "i32", "u8", "u16", "u32"}
 )
@@ -30,14 +32,19 @@ type name struct {
 	mut       bool
 	moved     bool // by what was made so far
 	locked    bool // borrowed by an argument of a call that is being made
+	lent      bool // likewise, but an index of a later argument that borrows may do with it what it likes
 	loops     int  // in how many loops it was declared
 }
+
+// free tells whether a variable may be used where a value is made next.
+func (v *name) free() bool { return !v.locked && !v.lent }
 
 // way is a place as it is written.
 type way struct {
 	text, typ string
 	mut       bool
 	root      *name
+	held      bool // it is not within the variable: it stays if that is moved away
 }
 
 // signature is a function that may be called.
@@ -79,7 +86,7 @@ func (m *maker) declare(typ string, mut bool) string {
 
 // parts tells the places one step on from one.
 func (m *maker) parts(p way) []way {
-	on := func(text, typ string) way { return way{text, typ, p.mut, p.root} }
+	on := func(text, typ string) way { return way{text, typ, p.mut, p.root, p.held} }
 	fields := map[string][][2]string{"P": {{"a", "i32"}, {"b", "u8"}}, "Q": {{"k", "Box<i32>"}, {"p", "P"}, {"n", "u16"}}, "W": {{"e", "E"}, {"a", "[i32; 3]"}, {"f", "F"}}}
 	var all []way
 	for _, f := range fields[p.typ] {
@@ -90,12 +97,11 @@ func (m *maker) parts(p way) []way {
 		elem, n, _ := strings.Cut(strings.Trim(p.typ, "[]"), "; ")
 		all = append(all, on(p.text+"["+m.index(n)+"]", elem))
 	case strings.HasPrefix(p.typ, "Box<"):
-		held := on("(*"+p.text+")", p.typ[4:len(p.typ)-1])
-		all = append(all, held)
+		all = append(all, way{"(*" + p.text + ")", p.typ[4 : len(p.typ)-1], p.mut, p.root, true})
 	case strings.HasPrefix(p.typ, "&mut "):
-		all = append(all, way{"(*" + p.text + ")", p.typ[5:], true, p.root})
+		all = append(all, way{"(*" + p.text + ")", p.typ[5:], true, p.root, true})
 	case strings.HasPrefix(p.typ, "&"):
-		all = append(all, way{"(*" + p.text + ")", p.typ[1:], false, p.root})
+		all = append(all, way{"(*" + p.text + ")", p.typ[1:], false, p.root, true})
 	}
 	return all
 }
@@ -104,7 +110,7 @@ func (m *maker) parts(p way) []way {
 func (m *maker) index(n string) string {
 	most, _ := strconv.Atoi(n)
 	for _, v := range m.scope {
-		if v.typ == "i32" && !v.locked && m.oneOf(8) {
+		if v.typ == "i32" && v.free() && m.oneOf(8) {
 			return v.text
 		}
 	}
@@ -129,8 +135,8 @@ func (m *maker) ways(typ string, mut bool) []way {
 		}
 	}
 	for _, v := range m.scope {
-		if !v.moved && !v.locked {
-			on(way{v.text, v.typ, v.mut, v}, 4)
+		if !v.moved && v.free() {
+			on(way{v.text, v.typ, v.mut, v, false}, 4)
 		}
 	}
 	return all

@@ -47,7 +47,7 @@ func has(pattern *api.Expr, v value) bool {
 // bind gives a value's parts to the names of a pattern that has it; those without one are let go.
 func (r *run) bind(pattern *api.Expr, v value) {
 	if pattern.Kind != api.PaVariant {
-		r.letGo(&v)
+		r.letGo(v)
 		return
 	}
 	for k := range v.parts {
@@ -56,7 +56,7 @@ func (r *run) bind(pattern *api.Expr, v value) {
 		if name.Num >= 0 {
 			r.declare(name.Num, v.parts[k])
 		} else {
-			r.letGo(&v.parts[k])
+			r.letGo(v.parts[k])
 		}
 	}
 }

@@ -5,11 +5,28 @@ import (
 	"ferrule/types"
 )
 
+// variable is one that is in scope.
+type variable struct {
+	slot int
+	held *value
+}
+
 // declare brings a variable into scope, that holds a value.
 func (r *run) declare(slot int, v value) {
 	held := &v
-	r.variables = append(r.variables, held)
+	r.variables = append(r.variables, variable{slot, held})
 	r.here().slots[slot] = held
+}
+
+// undeclare lets go what the last variable holds. No tree of its call finds it any more.
+func (r *run) undeclare() {
+	at := len(r.variables) - 1
+	last := r.variables[at]
+	r.variables = r.variables[:at]
+	r.letGo(*last.held)
+	if slots := r.here().slots; slots[last.slot] == last.held {
+		delete(slots, last.slot)
+	}
 }
 
 // givePlace ends a tree that is a place: with a borrow of it, or with its value.
@@ -70,7 +87,12 @@ func (r *run) pointed(f *frame) {
 		r.kidPlace(f)
 		return
 	}
-	by := r.given(f)[0].to
-	must(by.kind == aBox || by.kind == aBorrow)
-	r.givePlace(f, by.to)
+	switch by := r.given(f)[0].to; by.kind {
+	case aBox:
+		r.givePlace(f, &by.box.held)
+	case aBorrow:
+		r.givePlace(f, by.to)
+	default:
+		must(false)
+	}
 }

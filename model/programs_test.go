@@ -9,13 +9,13 @@ import (
 // argument makes one of a call; what it borrows may not be used till the call is made.
 func (m *maker) argument(typ string) (string, bool) {
 	if !strings.HasPrefix(typ, "&") {
-		return m.value(typ), true
+		return m.strictly(func() string { return m.value(typ) }), true
 	}
 	mut := strings.HasPrefix(typ, "&mut ")
 	var all []way
 	for _, v := range m.scope {
-		if v.typ == typ && !v.locked {
-			all = append(all, way{text: v.text, root: v})
+		if v.typ == typ && v.free() {
+			all = append(all, way{text: v.text, root: v, held: true})
 		}
 	}
 	sign := map[bool]string{true: "&mut ", false: "&"}[mut]
@@ -27,8 +27,102 @@ func (m *maker) argument(typ string) (string, bool) {
 		return "", false
 	}
 	p := all[m.chance.Intn(len(all))]
+	text := m.disturbed(p)
+	p.root.lent, p.root.locked = p.held, !p.held
+	return text, true
+}
+
+// strictly makes something that uses nothing that is borrowed.
+func (m *maker) strictly(make func() string) string {
+	defer m.unlock(m.locks())
+	for _, v := range m.scope {
+		v.locked, v.lent = v.locked || v.lent, false
+	}
+	return make()
+}
+
+// disturbed is a place that is borrowed, at times with an index that does something with what other arguments borrow.
+func (m *maker) disturbed(p way) string {
+	at := strings.LastIndex(p.text, "[")
+	if at < 0 || m.deep > 8 || m.oneOf(4) {
+		return p.text
+	}
+	defer m.unlock(m.locks())
+	var lent []*name
+	for _, v := range m.scope {
+		if v.lent {
+			lent = append(lent, v)
+		}
+		v.lent = false
+	}
 	p.root.locked = true
-	return p.text, true
+	end := at + strings.Index(p.text[at:], "]")
+	return p.text[:at+1] + "{ " + m.scoped(func() string { return m.disturbing(lent) }) + " " + p.text[at+1:end] + " }" + p.text[end:]
+}
+
+// disturbing makes a statement that likely lets go what is borrowed of some variables.
+func (m *maker) disturbing(lent []*name) string {
+	if len(lent) == 0 || m.oneOf(5) {
+		return m.statement()
+	}
+	v := lent[m.chance.Intn(len(lent))]
+	switch {
+	case v.moved || isCopied(v.typ) || strings.HasPrefix(v.typ, "&"):
+		return m.statement()
+	case m.oneOf(2) && v.mut:
+		value := m.value(v.typ)
+		v.moved = false
+		return v.text + " = " + value + ";"
+	case v.loops < m.loops:
+		return m.statement()
+	}
+	v.moved = true
+	if strings.HasPrefix(v.typ, "Box<") && m.oneOf(2) {
+		typ := v.typ[4 : len(v.typ)-1]
+		return "let mut " + m.declare(typ, true) + " = unbox(" + v.text + "); " + m.statement()
+	}
+	return "let mut " + m.declare(v.typ, true) + " = " + v.text + "; " + m.statement()
+}
+
+// lend makes a call of what borrows a part of a Box, while an index likely lets that go.
+func (m *maker) lend() string {
+	typ := m.pick("i32", "P", "Q", "Box<i32>", "E", "L")
+	list := m.value("[i32; 3]")
+	text := "let " + m.declare("[i32; 3]", false) + ": [i32; 3] = " + list + "; "
+	array := m.scope[len(m.scope)-1]
+	var all []way
+	for _, p := range m.ways(typ, true) {
+		if p.held && !strings.HasPrefix(p.root.typ, "&") {
+			all = append(all, p)
+		}
+	}
+	if len(all) == 0 {
+		held := m.value(typ)
+		return text + "let mut " + m.declare("Box<"+typ+">", true) + ": Box<" + typ + "> = Box::new(" + held + ");"
+	}
+	p := all[m.chance.Intn(len(all))]
+	array.locked = true
+	block := m.scoped(func() string { return m.disturbing([]*name{p.root}) })
+	array.locked = false
+	lender := strings.Trim(strings.ReplaceAll(typ, "Box<", "box_"), ">") + "_lent"
+	return text + "let mut " + m.declare(typ, true) + " = " + lender + "(&mut " + p.text + ", &" + array.text + "[{ " + block + " " + m.pick("0", "1", "2") + " }]);"
+}
+
+// lock is how a variable is borrowed.
+type lock struct{ locked, lent bool }
+
+func (m *maker) locks() map[*name]lock {
+	all := map[*name]lock{}
+	for _, v := range m.scope {
+		all[v] = lock{v.locked, v.lent}
+	}
+	return all
+}
+
+func (m *maker) unlock(all map[*name]lock) {
+	for v, was := range all {
+		v.locked, v.lent = was.locked, was.lent
+	}
 }
 
 // call makes one that answers a type.
@@ -50,20 +144,7 @@ func (m *maker) call(typ string) string {
 
 // callOf makes one of a function, if there is something for each borrow.
 func (m *maker) callOf(f signature) string {
-	var locked []*name
-	for _, v := range m.scope {
-		if v.locked {
-			locked = append(locked, v)
-		}
-	}
-	defer func() {
-		for _, v := range m.scope {
-			v.locked = false
-		}
-		for _, v := range locked {
-			v.locked = true
-		}
-	}()
+	defer m.unlock(m.locks())
 	ahead := m.moved()
 	var args []string
 	for _, p := range f.params {
@@ -138,7 +219,9 @@ func (m *maker) statement() string {
 	if m.room <= 0 && m.oneOf(2) {
 		return "print(" + m.placeValue(m.pick("i32", "u8", "bool")) + ");"
 	}
-	switch m.chance.Intn(20) {
+	switch m.chance.Intn(22) {
+	case 19, 20:
+		return m.lend()
 	case 0, 1, 2, 3:
 		typ := m.anyType()
 		value := m.value(typ)
@@ -175,7 +258,7 @@ func (m *maker) assign() string {
 	value := m.value(typ)
 	all := m.ways(typ, true)
 	for _, v := range m.scope {
-		if v.typ == typ && v.mut && !v.locked {
+		if v.typ == typ && v.mut && v.free() {
 			all = append(all, way{text: v.text, root: v})
 		}
 	}
@@ -190,7 +273,7 @@ func (m *maker) assign() string {
 // grown makes a list longer, whatever loop it stands in.
 func (m *maker) grown() string {
 	for _, v := range m.scope {
-		if v.typ == "L" && v.mut && !v.moved && !v.locked {
+		if v.typ == "L" && v.mut && !v.moved && v.free() {
 			return v.text + " = L::C(" + m.number("i32") + ", Box::new(" + v.text + "));"
 		}
 	}

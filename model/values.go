@@ -1,6 +1,10 @@
 package model
 
-import "ferrule/api"
+import (
+	"slices"
+
+	"ferrule/api"
+)
 
 // The kinds of values.
 const (
@@ -20,9 +24,18 @@ const mostParts = 4 * api.MaxWords
 // value is a value. A place is where one is held: a *value.
 type value struct {
 	kind  int
-	n     int     // the number; which variant; a Box's class
+	n     int     // the number; which variant
 	parts []value // of a struct, a variant, an array
-	to    *value  // the place in which a Box holds its value, or the one that is borrowed
+	box   *boxed  // which Box it is
+	to    *value  // the place that is borrowed
+}
+
+// boxed is a Box. It is one, wherever a value tells of it.
+type boxed struct {
+	class int
+	gone  bool // it was let go
+	pass  int  // which letGo came to it last
+	held  value
 }
 
 func numberOf(n int) value { return value{kind: aNumber, n: n} }
@@ -57,16 +70,24 @@ func (v value) count() int {
 	return n
 }
 
-// copied is a value in memory of its own. A Box has one owner alone, and is not copied.
-func (v value) copied() value {
-	must(v.kind != aBox)
+// apart is a value in memory of its own; its Boxes are the same.
+func (v value) apart() value {
 	parts := make([]value, len(v.parts))
 	for k := range parts {
-		parts[k] = v.parts[k].copied()
+		parts[k] = v.parts[k].apart()
 	}
 	v.parts = parts
 	return v
 }
+
+// copied is a copy of a value. A Box has one owner alone, and is not copied.
+func (v value) copied() value {
+	must(!v.owns())
+	return v.apart()
+}
+
+// owns tells whether there is a Box in a value.
+func (v value) owns() bool { return v.kind == aBox || slices.ContainsFunc(v.parts, value.owns) }
 
 // hasPlaces tells whether the parts of values of a kind can be borrowed: they stay where they are, whatever they hold.
 func hasPlaces(kind int) bool { return kind == aStruct || kind == anArray }
@@ -101,16 +122,25 @@ func put(to *value, v value) {
 	}
 }
 
-// letGo lets the value go that a place holds, if it holds one. The place holds nothing ahead of what is within it:
-// where borrow was not asked, a Box can come to stand within itself.
-func (r *run) letGo(held *value) {
-	v := *held
-	held.kind = nothing
-	if v.kind == aBox {
-		r.live[v.n]--
-		r.letGo(v.to)
+// letGo lets a value go. No place is changed by it: what was borrowed of a Box holds its value still.
+// A Box is come to once, as it can stand within itself; the list is for Boxes in Boxes, of which those that are gone can be many.
+func (r *run) letGo(v value) {
+	r.passes++
+	for left := []value{v}; len(left) > 0; {
+		last := left[len(left)-1]
+		left = append(left[:len(left)-1], last.parts...)
+		if last.kind == aBox && last.box.pass != r.passes {
+			last.box.pass = r.passes
+			r.free(last.box)
+			left = append(left, last.box.held)
+		}
 	}
-	for k := range v.parts {
-		r.letGo(&v.parts[k])
+}
+
+// free makes a Box one less that is live, once: where an index lets one go that is borrowed, it can be told to go again.
+func (r *run) free(b *boxed) {
+	if !b.gone {
+		b.gone = true
+		r.live[b.class]--
 	}
 }

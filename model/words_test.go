@@ -18,6 +18,7 @@ type machine struct {
 	printed []int
 	memory  []int
 	live    [4]int
+	freed   map[int]bool // the addresses of Boxes that were let go
 
 	calls  int
 	slots  map[int]int // where each variable of the function lies
@@ -44,7 +45,7 @@ type stopped struct{ kind, code int }
 
 // byWords is what a program's run comes to.
 func byWords(l []api.Item, input []int, fuel int) (r result) {
-	m := &machine{items: l, input: input, fuel: fuel, slots: map[int]int{}, calls: 1}
+	m := &machine{items: l, input: input, fuel: fuel, slots: map[int]int{}, freed: map[int]bool{}, calls: 1}
 	defer func() {
 		how, is := recover().(stopped)
 		if !is {
@@ -76,16 +77,22 @@ func (m *machine) lay(words []int) int {
 }
 
 // drop lets the words of a value go.
-func (m *machine) drop(t api.Type, words []int) {
+func (m *machine) drop(t api.Type, words []int) { m.dropAll(t, words, map[int]bool{}) }
+
+// dropAll is drop of what was not come to yet by it: a Box can hold itself.
+func (m *machine) dropAll(t api.Type, words []int, come map[int]bool) {
 	switch t.Kind {
 	case api.TyArray:
 		n := m.words(t.Elem[0])
 		for k := range t.N {
-			m.drop(t.Elem[0], words[k*n:])
+			m.dropAll(t.Elem[0], words[k*n:], come)
 		}
 	case api.TyBox:
-		m.free(t)
-		m.drop(t.Elem[0], m.memory[words[0]:])
+		if at := words[0]; !come[at] {
+			come[at] = true
+			m.free(t, at)
+			m.dropAll(t.Elem[0], m.memory[at:], come)
+		}
 	case api.TyNamed:
 		var parts []api.Type
 		if at := types.Find(m.items, api.ItStruct, t.Name); at >= 0 {
@@ -97,15 +104,19 @@ func (m *machine) drop(t api.Type, words []int) {
 			words = words[1:]
 		}
 		for _, part := range parts {
-			m.drop(part, words)
+			m.dropAll(part, words, come)
 			words = words[m.words(part):]
 		}
 	}
 }
 
-func (m *machine) free(t api.Type) {
-	class, _, _, _ := heap.Class(m.words(t.Elem[0]))
-	m.live[class]--
+// free lets the block of a Box go, once.
+func (m *machine) free(t api.Type, at int) {
+	if !m.freed[at] {
+		m.freed[at] = true
+		class, _, _, _ := heap.Class(m.words(t.Elem[0]))
+		m.live[class]--
+	}
 }
 
 // own brings a variable into scope.
@@ -415,7 +426,7 @@ func (m *machine) call(x *api.Expr) ([]int, int) {
 		m.input = m.input[1:]
 		return []int{n}, on
 	case "unbox":
-		m.free(x.Kids[0].Type)
+		m.free(x.Kids[0].Type, args[0][0])
 		return slices.Clone(m.memory[args[0][0]:][:m.words(x.Type)]), on
 	case "replace":
 		at := m.memory[args[0][0]:][:m.words(x.Type)]

@@ -41,7 +41,7 @@ func TestPlacesThatHoldNothing(t *testing.T) {
 		// Parts can be moved away by themselves, where borrow is not asked.
 		"let q = q(); let k = q.k; print(1); print(*q.k);", "let q = q(); let k = q.k; print(1); drop(q.k);", "let n = [box(1), box(2)]; let b = n[1]; print(1); print(*n[1]);", "let b = Box::new(box(1)); let c = *b; print(1); let d = *b;", "let b = Box::new(box(1)); let c = *b; print(1); unbox(b);", "let q = q(); let k = q.k; let r = q; print(1); print(*r.k);",
 		// What is moved away while it is borrowed is not there any more, nor are its parts.
-		"let b = box(1); both(&b, { drop(b); 1 });", "let q = q(); both(&q.k, { q; 1 });", "let n = [box(1), box(2)]; both(&n[1], { let m = n; 1 });", "let b = Box::new(box(1)); both(&*b, { unbox(b); 1 });", "let mut b = Box::new(box(1)); both(&*b, { b = Box::new(box(2)); 1 });",
+		"let b = box(1); both(&b, { drop(b); 1 });", "let q = q(); both(&q.k, { q; 1 });", "let n = [box(1), box(2)]; both(&n[1], { let m = n; 1 });",
 	} {
 		wantStuck(t, inMain(body)+" fn both(r: &Box<i32>, n: i32) { print(n); print(**r); }", 1)
 	}
@@ -50,8 +50,8 @@ func TestPlacesThatHoldNothing(t *testing.T) {
 	for params, args := range map[string]string{"b: Box<i32>": "let b = box(1); kept(&b, b);", "q: Q": "let q = q(); kept(&q.k, q);", "n: [Box<i32>; 2]": "let n = [box(1), box(2)]; kept(&n[1], n);", "n: N": "let n = N { b: [box(1), box(2)] }; kept(&n.b[0], n);", "n: i32, m: i32": "let mut t = T { q: fresh() }; let s = T { q: fresh() }; kept(&s.q.k, { s.q; 1 }, { t = s; t.q = fresh(); 1 });"} {
 		wantStuck(t, inMain(args)+" struct T { q: Q } fn kept(r: &Box<i32>, "+params+") { print(1); print(**r); }", 1)
 	}
-	// The run goes on where nothing is used that is not there.
-	for body, print := range map[string]int{"let b = box(1); b; seen(&b);": 7, "let q = q(); let k = q.k; print(q.p.a);": 1, "let mut q = q(); let k = q.k; q.k = box(5); print(*q.k + *k);": 8, "let n = [box(1), box(2)]; let b = n[0]; print(*n[1]);": 2, "let mut b = Box::new(box(1)); let c = *b; *b = box(4); print(**b);": 4, "let mut q = fresh(); both(&q.k, { q = fresh(); 1 });": 3} {
+	// The run goes on where nothing is used that is not there: what a Box held is, also if the Box was let go.
+	for body, print := range map[string]int{"let b = Box::new(box(1)); both(&*b, { unbox(b); 1 });": 1, "let mut b = Box::new(box(1)); both(&*b, { b = Box::new(box(2)); 1 });": 1, "let b = Box::new(q()); both(&b.k, { let c = b; 1 });": 3, "let b = box(1); b; seen(&b);": 7, "let q = q(); let k = q.k; print(q.p.a);": 1, "let mut q = q(); let k = q.k; q.k = box(5); print(*q.k + *k);": 8, "let n = [box(1), box(2)]; let b = n[0]; print(*n[1]);": 2, "let mut b = Box::new(box(1)); let c = *b; *b = box(4); print(**b);": 4, "let mut q = fresh(); both(&q.k, { q = fresh(); 1 });": 3} {
 		text := inMain(body) + " fn seen(r: &Box<i32>) { print(7); } fn both(r: &Box<i32>, n: i32) { print(**r); }"
 		wantItems(t, typed(t, text), text, nil, api.OutExit, 0, print)
 	}
@@ -200,6 +200,8 @@ func TestValuesWithoutARule(t *testing.T) {
 		text(api.ExVariant, "Box::new", number(1)), of(ty(api.TyBox), text(api.ExVariant, "Box::new", number(1))), of(ty(api.TyBox, ty(api.TyNever)), text(api.ExVariant, "Box::new", number(1))), of(ty(api.TyBox, ty(99)), text(api.ExVariant, "Box::new", number(1))), of(ty(api.TyBox, api.Type{Kind: api.TyNamed, Name: "X"}), text(api.ExVariant, "Box::new", number(1))), of(ty(api.TyBox, api.Type{Kind: api.TyArray, N: 129, Elem: []api.Type{ty(api.TyU8)}}), text(api.ExVariant, "Box::new", number(1))), of(ty(api.TyBox, ty(api.TyI32)), text(api.ExVariant, "Box::new")), of(ty(api.TyBox, ty(api.TyI32)), text(api.ExVariant, "Box::new", number(1), number(2))), of(ty(api.TyRef, ty(api.TyI32)), text(api.ExVariant, "Box::new", number(1))),
 		// Calls with other values than they are for; ends of what is not there.
 		text(api.ExCall, "print", unit), text(api.ExCall, "print", list), text(api.ExCall, "print", boxOf(number(1))), text(api.ExCall, "print", tree(api.ExBorrow, 0, variableOf(0))), text(api.ExCall, "unbox", number(1)), text(api.ExCall, "unbox", tree(api.ExBorrow, 0, variableOf(0))), text(api.ExCall, "replace", number(1), number(2)), text(api.ExCall, "replace", boxOf(number(1)), number(2)), tree(api.ExBreak, 0), tree(api.ExNext, 0), tree(api.ExLoop, 0, text(api.ExCall, "leave")), tree(api.ExBlock, 1),
+		// A variable whose scope has ended.
+		tree(api.ExBlock, 0, tree(api.ExBlock, 0, let(4, number(1))), variableOf(4)), tree(api.ExBlock, 0, tree(api.ExBlock, 0, let(4, number(1))), tree(api.ExAssign, 0, variableOf(4), number(2))),
 		// A Box is not copied, whatever its tree says of its type.
 		tree(api.ExBlock, 0, let(4, boxOf(number(1))), variableOf(4)), tree(api.ExBlock, 0, let(4, tree(api.ExArray, 0, boxOf(number(1)))), variableOf(4)),
 	} {
