@@ -29,6 +29,8 @@ type builder struct {
 	exit      int // the block that answers
 
 	stirring map[*api.Expr]int // the trees that may change a variable, or what it points to
+	pins     []pin             // of arguments that wait for their calls
+	watched  bool              // there may be pins: which variables hold a value is kept
 }
 
 // variable is one that is in scope.
@@ -36,6 +38,7 @@ type variable struct {
 	slot, local, words int
 	typ                *api.Type
 	owns               bool
+	holds              int // the scalar that is 1 where it holds a value, and 0 where not; none, if that is not kept
 }
 
 // loop is one that is being built: how many variables are older, and where it goes on, and ends.
@@ -48,8 +51,10 @@ func (p *program) function(it *api.Item) api.Mir {
 	b.mark(&it.Body, true)
 	b.begin(b.block())
 	for k := range it.Params {
-		t := &it.Params[k].Type
-		b.declare(k, b.newLocal(b.words(t)), t)
+		b.newLocal(b.words(&it.Params[k].Type))
+	}
+	for k := range it.Params {
+		b.declare(k, k, &it.Params[k].Type)
 	}
 	b.answer = b.fresh(b.f.Answers)
 	b.exit = b.block()
@@ -140,6 +145,7 @@ func (b *builder) mark(x *api.Expr, value bool) bool {
 		if b.mark(&x.Kids[k], k > 0 || !hasPlace(x.Kind)) {
 			stirs = true
 		}
+		b.watched = b.watched || x.Kind == api.ExCall && b.disturbs(&x.Kids[k])
 	}
 	if stirs {
 		b.stirring[x] = 1

@@ -13,24 +13,44 @@ func (b *builder) call(x *api.Expr, to target) {
 	}
 	f, is := b.functions[x.Text]
 	must(is && len(f.Params) == len(x.Kids) && b.words(&f.Type) == to.words)
-	stirred := make([]bool, len(x.Kids)+1) // by arguments from each one on
-	for k := len(x.Kids) - 1; k >= 0; k-- {
-		stirred[k] = stirred[k+1] || b.stirs(&x.Kids[k])
-	}
+	stirred, disturbed := behind(x.Kids, b.stirs), behind(x.Kids, b.disturbs)
+	first := len(b.pins)
 	var args []api.Operand
 	for k := range x.Kids {
-		args = append(args, b.argument(&x.Kids[k], &f.Params[k].Type, stirred[k+1])...)
+		args = append(args, b.argument(&x.Kids[k], &f.Params[k].Type, stirred[k], disturbed[k])...)
 	}
+	own := b.pins[first:]
+	b.pins = b.pins[:first]
+	b.spareAll(f, args...)
 	b.callOf(x.Text, to, args...)
+	for _, p := range own {
+		if p.stead != none {
+			b.release(p.stead)
+		}
+	}
 }
 
-// argument builds one of a call, for a param of a type; stirred: those behind it may change variables.
-func (b *builder) argument(x *api.Expr, t *api.Type, stirred bool) []api.Operand {
+// behind tells of each tree of a list, whether one behind it is of some sort.
+func behind(list []api.Expr, is func(x *api.Expr) bool) []bool {
+	out := make([]bool, len(list))
+	for k := len(list) - 2; k >= 0; k-- {
+		out[k] = out[k+1] || is(&list[k+1])
+	}
+	return out
+}
+
+// argument builds one of a call, for a param of a type; stirred: those behind it may change variables; disturbed: they may let go what it borrows.
+func (b *builder) argument(x *api.Expr, t *api.Type, stirred, disturbed bool) []api.Operand {
 	words := b.words(t)
 	switch {
 	case x.Kind == api.ExBorrow:
 		must(isBorrow(t) && b.words(pointedBy(t)) == b.words(&x.Kids[0].Type))
-		return []api.Operand{b.kept(b.address(b.place(&x.Kids[0], false)), stirred)}
+		p := b.place(&x.Kids[0], disturbed)
+		at := b.kept(b.address(p), stirred)
+		if disturbed {
+			b.pin(&x.Kids[0], p, at.N)
+		}
+		return []api.Operand{at}
 	case isBorrow(t):
 		must(x.Kind == api.ExVar && isBorrow(&x.Type))
 		return []api.Operand{b.operand(x)}
@@ -91,6 +111,7 @@ func (b *builder) unbox(x *api.Expr, to target) {
 	must(len(x.Kids) == 1 && b.words(pointedBy(&x.Kids[0].Type)) == to.words)
 	block := b.inLocal(b.operand(&x.Kids[0]))
 	b.copy(to, heldBy(block))
+	b.spareBox(scalar(block))
 	b.add(api.Instr{Op: api.OpFree, A: scalar(block)})
 }
 

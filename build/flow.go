@@ -176,14 +176,15 @@ func (b *builder) assign(x *api.Expr, to target) {
 // overwrite lets go what a place holds, if it holds anything, and brings something else there.
 func (b *builder) overwrite(x *api.Expr, bring func(to target)) {
 	to := target{b.place(x, false), b.words(&x.Type)}
-	if x.Kind != api.ExVar || !b.owns(&x.Type) {
+	if x.Kind != api.ExVar {
 		b.letGo(&x.Type, to.at)
 		bring(to)
 		return
 	}
-	b.add(api.Instr{Op: api.OpClear, Dst: to.at.Local, Type: x.Type})
+	v := b.root(x)
+	b.letHeldGo(v)
 	bring(to)
-	b.add(api.Instr{Op: api.OpGive, Dst: to.at.Local})
+	b.give(v)
 }
 
 // statement builds a value that is let go. What is not owned is not even brought anywhere, if it is a place's.

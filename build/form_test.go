@@ -77,10 +77,33 @@ func TestLocalsAreUsedAgain(t *testing.T) {
 		"let mut a = [1; 100]; a = [2; 100]; a = [read(); 100]; let b = [a[1]; 100]; a = b;":                       300,
 		"let mut i = 0; while i < 2 { let a = [i; 50]; i = i + 1; } let s = S { a: [i; 40] };":                     50,
 		"match E::A([1; 50]) { E::A(a) => { let b = [a[0]; 50]; }, E::B => { let c = [1; 60]; } }":                 170,
+		"match E::A([1; 50]) { E::A(a) => {}, E::B => {} } let b = [0; 50]; let c = [0; 50];":                      102,
 		"match E::A([1; 50]) { E::A(_) => { let b = [0; 51]; }, E::B => { let b = [0; 51]; } }":                    51,
 	} {
 		if got := words(body); got > most {
 			t.Errorf("%s: %d words in locals, not %d", body, got, most)
+		}
+	}
+}
+
+// Variables of one word that nothing borrows are operands throughout: no place begins in them but for what they point to.
+func TestScalarsAreOperands(t *testing.T) {
+	body := "let mut x = read(); let y = x; x = y + x; let z = if x < y { x } else { -y }; let mut i = 0u8; while i < 3 { i = i + 1; } print(z as u8); let o = O { x: 5 }; print(o.x); let e = T::B; match e { T::A => print(1), T::B => print(y), T::C => {} } let mut b = box(x); *b = 3; print(*b + unbox(box(2))); let c = b; let d = same(c); x = two(x, i as i32); let f = OB { b: d }; print(*f.b); let g = match E::B(f.b, 4) { E::B(h, n) => *h + n, _ => 0 }; print(replace(&mut x, g)); match x { 1 => {}, _ => print(x) }"
+	f := built(t, typed(t, inMain(body)))[0]
+	for _, b := range f.Blocks {
+		for _, in := range b.List {
+			var places []api.Place
+			switch in.Op {
+			case api.OpLoad, api.OpStore, api.OpAddr:
+				places = []api.Place{in.P}
+			case api.OpCopy:
+				places = []api.Place{in.P, in.Q}
+			}
+			for _, p := range places {
+				if f.Locals[p.Local] == 1 && (len(p.Steps) == 0 || p.Steps[0].Kind != api.StHeld) {
+					t.Errorf("%+v", in)
+				}
+			}
 		}
 	}
 }

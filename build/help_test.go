@@ -26,7 +26,7 @@ const items = ` struct P { a: i32, b: u8 } struct Q { p: P, k: Box<i32>, l: [i32
 enum E { N, A(i32), B(Box<i32>, i32), C(Box<i32>, Box<i32>) } enum L { N, C(Box<L>) } enum T { A, B, C } enum X { N, P(P, [i32; 2]), Q(Q), U((), U) }
 const K: i32 = 7; const LEAST: i8 = -128;
 fn yes() -> bool { true } fn no() -> bool { false } fn box(n: i32) -> Box<i32> { Box::new(n) } fn say(n: i32) -> i32 { print(n); n } fn ask(n: i32, b: bool) -> bool { print(n); b } fn drop(b: Box<i32>) {} fn same(b: Box<i32>) -> Box<i32> { b } fn look(b: &Box<i32>) -> i32 { **b } fn zero() -> i32 { 0 } fn point(a: i32, b: u8) -> P { P { a: a, b: b } }
-fn q() -> Q { Q { p: P { a: 1, b: 2 }, k: box(3), l: [4, 5, 6] } } fn eatQ(q: Q) -> i32 { *q.k + q.l[2] } fn show(p: &P) { print(p.a); print(p.b); } fn showQ(q: &Q) { show(&q.p); print(*q.k); print(q.l[0] * 100 + q.l[1] * 10 + q.l[2]); } fn set(x: &mut i32, n: i32) { *x = n; } fn setP(p: &mut P, n: i32) -> P { replace(p, P { a: n, b: 9 }) } fn panics() -> i32 { zero() / zero() } fn two(a: i32, b: i32) -> i32 { a * 10 + b } fn show2(a: P, b: P) { show(&a); show(&b); }
+fn q() -> Q { Q { p: P { a: 1, b: 2 }, k: box(3), l: [4, 5, 6] } } fn eatQ(q: Q) -> i32 { *q.k + q.l[2] } fn show(p: &P) { print(p.a); print(p.b); } fn showQ(q: &Q) { show(&q.p); print(*q.k); print(q.l[0] * 100 + q.l[1] * 10 + q.l[2]); } fn set(x: &mut i32, n: i32) { *x = n; } fn setP(p: &mut P, n: i32) -> P { replace(p, P { a: n, b: 9 }) } fn panics() -> i32 { zero() / zero() } fn two(a: i32, b: i32) -> i32 { a * 10 + b } fn three(a: i32, b: i32, c: i32) -> i32 { a * 100 + b * 10 + c } fn give3(b: Box<i32>, n: i32, m: i32) -> i32 { three(*b, n, m) } fn show2(a: P, b: P) { show(&a); show(&b); }
 `
 
 // inMain is a program whose main has a body.

@@ -164,21 +164,43 @@ func (b *builder) inLocal(o api.Operand) int {
 // declare brings a variable into scope, whose value lies in its local.
 func (b *builder) declare(slot, local int, t *api.Type) {
 	must(slot >= 0)
-	v := variable{slot, local, b.words(t), t, b.owns(t)}
-	if v.owns {
-		b.add(api.Instr{Op: api.OpGive, Dst: local})
+	v := variable{slot, local, b.words(t), t, b.owns(t), none}
+	if v.owns && b.watched {
+		v.holds = b.newLocal(1)
 	}
+	b.give(v)
 	b.slots[slot] = len(b.variables)
 	b.variables = append(b.variables, v)
 	b.held[local] = 1
 }
 
+// give notes that a variable holds a value, if that is one to be let go.
+func (b *builder) give(v variable) { b.note(v, api.OpGive, 1) }
+
+// take notes that a variable holds none any more.
+func (b *builder) take(v variable) { b.note(v, api.OpTake, 0) }
+
+func (b *builder) note(v variable, op, holds int) {
+	if v.owns {
+		b.add(api.Instr{Op: op, Dst: v.local})
+	}
+	if v.holds != none {
+		b.put(target{api.Place{Local: v.holds}, 1}, number(holds))
+	}
+}
+
+// letHeldGo lets go what a variable holds, if it holds a value.
+func (b *builder) letHeldGo(v variable) {
+	if v.owns {
+		b.spareHeld(v)
+		b.add(api.Instr{Op: api.OpClear, Dst: v.local, Type: *v.typ})
+	}
+}
+
 // clear lets go what all variables hold but the first ones, the last one first.
 func (b *builder) clear(first int) {
 	for k := len(b.variables) - 1; k >= first; k-- {
-		if v := &b.variables[k]; v.owns {
-			b.add(api.Instr{Op: api.OpClear, Dst: v.local, Type: *v.typ})
-		}
+		b.letHeldGo(b.variables[k])
 	}
 }
 

@@ -11,6 +11,7 @@ import (
 const made = `struct P { a: i32, b: u8 } struct Q { k: Box<i32>, p: P, n: u16 } struct W { e: E, a: [i32; 3], f: F } struct O { x: i16 } struct K1 { b: Box<u8> } struct Z {} struct G { u: (), g: [[u8; 2]; 2], z: Z, o: O }
 enum E { N, A(i32), B(Box<i32>, u8), C(P, Box<P>) } enum F { X, Y(i8), Z(u32, bool) } enum L { N, C(i32, Box<L>) } enum C { R, S, T, U, V, W } enum M { A((), [i32; 3]), B(Q), C(E, F), D }
 const K: i32 = 7;
+fn i32_lent(x: &mut i32, y: &i32) -> i32 { print(*x); replace(x, *y) } fn P_lent(x: &mut P, y: &i32) -> P { print(x.b); x.a = *y; print(x.a); *x }
 `
 
 // The types that values are made of: those that are copied come first.
@@ -47,14 +48,19 @@ type name struct {
 	mut       bool
 	moved     bool // by what was made so far
 	locked    bool // borrowed by an argument of a call that is being made
+	lent      bool // likewise, but an index of a later argument that borrows may do with it what it likes
 	loops     int  // in how many loops it was declared
 }
+
+// free tells whether a variable may be used where a value is made next.
+func (v *name) free() bool { return !v.locked && !v.lent }
 
 // way is a place as it is written.
 type way struct {
 	text, typ string
 	mut       bool
 	root      *name
+	held      bool // it is not within the variable: it stays if that is moved away
 }
 
 // signature is a function that may be called.
@@ -96,7 +102,7 @@ func (m *maker) declare(typ string, mut bool) string {
 
 // parts tells the places one step on from one.
 func (m *maker) parts(p way) []way {
-	on := func(text, typ string) way { return way{text, typ, p.mut, p.root} }
+	on := func(text, typ string) way { return way{text, typ, p.mut, p.root, p.held} }
 	var all []way
 	for list := fieldsOf(p.typ); len(list) > 0; list = list[2:] {
 		all = append(all, on(p.text+"."+list[0], list[1]))
@@ -106,11 +112,11 @@ func (m *maker) parts(p way) []way {
 		elem, n := elements(p.typ)
 		all = append(all, on(p.text+"["+m.index(n)+"]", elem))
 	case strings.HasPrefix(p.typ, "Box<"):
-		all = append(all, on("(*"+p.text+")", p.typ[4:len(p.typ)-1]))
+		all = append(all, way{"(*" + p.text + ")", p.typ[4 : len(p.typ)-1], p.mut, p.root, true})
 	case strings.HasPrefix(p.typ, "&mut "):
-		all = append(all, way{"(*" + p.text + ")", p.typ[5:], true, p.root})
+		all = append(all, way{"(*" + p.text + ")", p.typ[5:], true, p.root, true})
 	case strings.HasPrefix(p.typ, "&"):
-		all = append(all, way{"(*" + p.text + ")", p.typ[1:], false, p.root})
+		all = append(all, way{"(*" + p.text + ")", p.typ[1:], false, p.root, true})
 	}
 	return all
 }
@@ -119,7 +125,7 @@ func (m *maker) parts(p way) []way {
 func (m *maker) index(n string) string {
 	most, _ := strconv.Atoi(n)
 	for _, v := range m.scope {
-		if isInt(v.typ) && !v.locked && m.oneOf(8) {
+		if isInt(v.typ) && v.free() && m.oneOf(8) {
 			return v.text
 		}
 	}
@@ -147,8 +153,8 @@ func (m *maker) ways(typ string, mut bool) []way {
 		}
 	}
 	for _, v := range m.scope {
-		if !v.moved && !v.locked {
-			on(way{v.text, v.typ, v.mut, v}, 4)
+		if !v.moved && v.free() {
+			on(way{v.text, v.typ, v.mut, v, false}, 4)
 		}
 	}
 	return all

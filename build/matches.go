@@ -162,6 +162,7 @@ func (b *builder) bind(pattern *api.Expr, of *api.Type, from api.Place) {
 // letGo lets a value go that stands somewhere.
 func (b *builder) letGo(t *api.Type, at api.Place) {
 	if b.owns(t) {
+		b.spareAt(t, at)
 		b.add(api.Instr{Op: api.OpDrop, P: at, Type: *t})
 	}
 }

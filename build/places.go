@@ -87,8 +87,8 @@ func (b *builder) element(steps []api.Step, x *api.Expr, keep bool) (out []api.S
 
 // taken notes that a value is moved away, where a variable's is that is not copied.
 func (b *builder) taken(x *api.Expr) {
-	if x.Kind == api.ExVar && b.owns(&x.Type) {
-		b.add(api.Instr{Op: api.OpTake, Dst: b.root(x).local})
+	if x.Kind == api.ExVar {
+		b.take(b.root(x))
 	}
 }
 

@@ -105,4 +105,5 @@ func TestValuesAreCopies(t *testing.T) {
 	wantPrint(t, "let mut p = point(1, 2); let a = [p, { p.a = 5; p }, p]; show(&a[0]); show(&a[1]); let s = X::P(p, [p.a, { p.a = 9; p.a }]); match s { X::P(r, l) => { show(&r); print(l[0]); print(l[1]); }, _ => {} }", 1, 2, 5, 2, 5, 2, 5, 9)
 	wantPrint(t, "let mut x = 1; let y = x; x = 2; print(y); let mut a = [x, { x = 3; x }, x]; let b = [x; 3]; x = 4; print(a[0] * 100 + a[1] * 10 + a[2]); print(b[2]); a[0] = a[1]; a[1] = 7; print(a[0]); let c = x as u8; x = 5; print(c); let d = { x }; x = 6; print(d); let e = if true { x } else { 0 }; x = 7; print(e);", 1, 233, 3, 3, 4, 5, 6)
 	wantPrint(t, "let mut x = 1; print(two(x, { x = 2; x })); print(two(x, { set(&mut x, 5); 3 })); let mut p = point(1, 2); show2(p, { p.a = 7; p }); show2(p, { p = point(0, 0); p });", 12, 23, 1, 2, 7, 2, 7, 2, 0, 0)
+	wantPrint(t, "let mut x = 1; print(three(x, 5, { x = 2; x })); print(three({ x = x + 1; x }, x, { x = 7; x })); let mut b = box(1); print(give3(b, 5, { b = box(2); *b })); print(*b);", 152, 337, 152, 2)
 }

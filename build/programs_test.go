@@ -9,12 +9,12 @@ import (
 // argument makes one of a call; what it borrows may not be used till the call is made.
 func (m *maker) argument(typ string) (string, bool) {
 	if !strings.HasPrefix(typ, "&") {
-		return m.value(typ), true
+		return m.strictly(func() string { return m.value(typ) }), true
 	}
 	mut := strings.HasPrefix(typ, "&mut ")
 	var all []way
 	for _, v := range m.scope {
-		if v.typ == typ && !v.locked {
+		if v.typ == typ && v.free() {
 			all = append(all, way{text: v.text, root: v})
 		}
 	}
@@ -27,31 +27,102 @@ func (m *maker) argument(typ string) (string, bool) {
 		return "", false
 	}
 	p := all[m.chance.Intn(len(all))]
-	p.root.locked = true
-	return m.disturbed(p.text), true
+	text := m.disturbed(p)
+	// Of what holds Boxes itself nothing is there any more, once it was let go.
+	p.root.lent = p.held && isCopied(p.typ)
+	p.root.locked = !p.root.lent
+	return text, true
 }
 
-// disturbed is a place that is borrowed, at times with an index that does something with other variables.
-func (m *maker) disturbed(text string) string {
-	at := strings.LastIndex(text, "[")
-	if at < 0 || m.deep > 8 || m.oneOf(4) {
-		return text
-	}
-	end := at + strings.Index(text[at:], "]")
-	return text[:at+1] + "{ " + m.scoped(m.statement) + " " + text[at+1:end] + " }" + text[end:]
-}
-
-func (m *maker) locks() map[*name]bool {
-	all := map[*name]bool{}
+// strictly makes something that uses nothing that is borrowed.
+func (m *maker) strictly(make func() string) string {
+	defer m.unlock(m.locks())
 	for _, v := range m.scope {
-		all[v] = v.locked
+		v.locked, v.lent = v.locked || v.lent, false
+	}
+	return make()
+}
+
+// disturbed is a place that is borrowed, at times with an index that does something with what other arguments borrow.
+func (m *maker) disturbed(p way) string {
+	at := strings.LastIndex(p.text, "[")
+	if at < 0 || m.deep > 8 || m.oneOf(4) {
+		return p.text
+	}
+	defer m.unlock(m.locks())
+	var lent []*name
+	for _, v := range m.scope {
+		if v.lent {
+			lent = append(lent, v)
+		}
+		v.lent = false
+	}
+	p.root.locked = true
+	end := at + strings.Index(p.text[at:], "]")
+	return p.text[:at+1] + "{ " + m.scoped(func() string { return m.disturbing(lent) }) + " " + p.text[at+1:end] + " }" + p.text[end:]
+}
+
+// disturbing makes a statement that likely lets go what is borrowed of some variables.
+func (m *maker) disturbing(lent []*name) string {
+	if len(lent) == 0 || m.oneOf(5) {
+		return m.statement()
+	}
+	v := lent[m.chance.Intn(len(lent))]
+	switch {
+	case v.moved || isCopied(v.typ) || strings.HasPrefix(v.typ, "&"):
+		return m.statement()
+	case m.oneOf(2) && v.mut:
+		value := m.value(v.typ)
+		v.moved = false
+		return v.text + " = " + value + ";"
+	case v.loops < m.loops:
+		return m.statement()
+	}
+	v.moved = true
+	if strings.HasPrefix(v.typ, "Box<") && m.oneOf(2) {
+		typ := v.typ[4 : len(v.typ)-1]
+		return "let mut " + m.declare(typ, true) + " = unbox(" + v.text + "); " + m.statement()
+	}
+	return "let mut " + m.declare(v.typ, true) + " = " + v.text + "; " + m.statement()
+}
+
+// lend makes a call of what borrows a part of a Box, while an index likely lets that go.
+func (m *maker) lend() string {
+	typ := m.pick("i32", "P")
+	list := m.value("[i32; 3]")
+	text := "let " + m.declare("[i32; 3]", false) + ": [i32; 3] = " + list + "; "
+	array := m.scope[len(m.scope)-1]
+	var all []way
+	for _, p := range m.ways(typ, true) {
+		if p.held && !strings.HasPrefix(p.root.typ, "&") {
+			all = append(all, p)
+		}
+	}
+	if len(all) == 0 {
+		held := m.value(typ)
+		return text + "let mut " + m.declare("Box<"+typ+">", true) + ": Box<" + typ + "> = Box::new(" + held + ");"
+	}
+	p := all[m.chance.Intn(len(all))]
+	array.locked = true
+	block := m.scoped(func() string { return m.disturbing([]*name{p.root}) })
+	array.locked = false
+	return text + "let mut " + m.declare(typ, true) + " = " + typ + "_lent(&mut " + p.text + ", &" + array.text + "[{ " + block + " " + m.pick("0", "1", "2") + " }]);"
+}
+
+// lock is how a variable is borrowed.
+type lock struct{ locked, lent bool }
+
+func (m *maker) locks() map[*name]lock {
+	all := map[*name]lock{}
+	for _, v := range m.scope {
+		all[v] = lock{v.locked, v.lent}
 	}
 	return all
 }
 
-func (m *maker) unlock(all map[*name]bool) {
+func (m *maker) unlock(all map[*name]lock) {
 	for v, was := range all {
-		v.locked = was
+		v.locked, v.lent = was.locked, was.lent
 	}
 }
 
@@ -156,7 +227,9 @@ func (m *maker) statement() string {
 	if m.room <= 0 && m.oneOf(2) {
 		return "print(" + m.placeValue(m.pick("i32", "u8", "bool")) + ");"
 	}
-	switch m.chance.Intn(20) {
+	switch m.chance.Intn(21) {
+	case 20:
+		return m.lend()
 	case 0, 1, 2, 3:
 		typ := m.anyType()
 		value := m.value(typ)
@@ -193,7 +266,7 @@ func (m *maker) assign() string {
 	value := m.value(typ)
 	all := m.ways(typ, true)
 	for _, v := range m.scope {
-		if v.typ == typ && v.mut && !v.locked {
+		if v.typ == typ && v.mut && v.free() {
 			all = append(all, way{text: v.text, root: v})
 		}
 	}
@@ -201,10 +274,7 @@ func (m *maker) assign() string {
 		return "(" + value + ");"
 	}
 	p := all[m.chance.Intn(len(all))]
-	locked := p.root.locked
-	p.root.locked = true // its index does not change it
-	text := m.disturbed(p.text)
-	p.root.locked = locked
+	text := m.disturbed(p)
 	p.root.moved = false
 	return text + " = " + value + ";"
 }
@@ -212,7 +282,7 @@ func (m *maker) assign() string {
 // grown makes a list longer, whatever loop it stands in.
 func (m *maker) grown() string {
 	for _, v := range m.scope {
-		if v.typ == "L" && v.mut && !v.moved && !v.locked {
+		if v.typ == "L" && v.mut && !v.moved && v.free() {
 			return v.text + " = L::C(" + m.number("i32") + ", Box::new(" + v.text + "));"
 		}
 	}

@@ -301,6 +301,8 @@ func TestGreatPrograms(t *testing.T) {
 	wantPrint(t, "let mut x = 0; "+strings.Repeat("x = x + 1; ", 5000)+"print(x);", 5000)
 	wantPrint(t, strings.Repeat("{ let a = [1; 128]; } ", 2500)+"print(1);", 1)
 	wantRun(t, "fn main() { print(1); }"+functions(4000), nil, api.OutExit, 0, 1)
+	// Values with many Boxes that are let go while an argument waits that borrows of one.
+	wantPrint(t, "let mut s = [[box(1), box(2)], [box(3), box(4)]]; let a = [0]; print(look2(&*s[1][0], &a[{ "+strings.Repeat("s = [[box(5), box(6)], [box(7), box(8)]]; ", 500)+"0 }])); let d = deep(); print(look2(&*d[3][0][2], &a[{ d; 0 }])); } fn look2(x: &i32, y: &i32) -> i32 { *x } fn deep() -> Box<[Box<[Box<[Box<i32>; 4]>; 2]>; 4]> { Box::new(["+times(4, "Box::new(["+times(2, "Box::new(["+times(4, "box(4)")+"])")+"])")+"])", 3, 4)
 	var boxes strings.Builder
 	for k := range 1000 {
 		boxes.WriteString("let b" + strconv.Itoa(k+1) + " = Box::new(b" + strconv.Itoa(k) + "); ")
