@@ -101,10 +101,11 @@ func TestGraphsByChance(t *testing.T) {
 	for seed := range int64(3000) {
 		chance := rand.New(rand.NewSource(seed))
 		locals := 1 + chance.Intn(5)
-		if seed%50 == 0 {
-			locals = 60 + chance.Intn(80)
+		changes := 4
+		if seed%30 == 0 {
+			locals, changes = 60+chance.Intn(80), 60
 		}
-		f := graphByChance(chance, 1+chance.Intn(9), locals)
+		f := graphByChance(chance, 1+chance.Intn(9), locals, changes)
 		l := []api.Mir{f}
 		out := elaborated(t, nil, l)
 		flags += wantNoMore(t, nil, l, out)
@@ -119,14 +120,14 @@ func TestGraphsByChance(t *testing.T) {
 }
 
 // graphByChance is a main of so many blocks, that go on anywhere, and so many locals that may hold a Box; a local more is read.
-func graphByChance(chance *rand.Rand, blocks, locals int) api.Mir {
+func graphByChance(chance *rand.Rand, blocks, locals, changes int) api.Mir {
 	f := fn("main", []int{}, 0, 0)
 	for range locals + 1 {
 		f.Locals = append(f.Locals, 1)
 	}
 	for range blocks {
 		var list []api.Instr
-		for range chance.Intn(4) {
+		for range chance.Intn(changes) {
 			k := chance.Intn(locals)
 			switch chance.Intn(5) {
 			case 0, 1:

@@ -43,7 +43,7 @@ func (e *elaborator) newName(x *kind) string {
 
 // dropper is the function that lets a value of a kind go.
 func (e *elaborator) dropper(x *kind) api.Mir {
-	w := &writer{elaborator: e, f: api.Mir{Name: x.dropper, Locals: []int{1}, Params: 1, Quiet: true, Blocks: []api.Block{{}}}}
+	w := &writer{elaborator: e, marks: true, f: api.Mir{Name: x.dropper, Locals: []int{1}, Params: 1, Quiet: true, Blocks: []api.Block{{}}}}
 	w.drop(x, api.Place{Steps: []api.Step{{Kind: api.StHeld}}})
 	w.end(api.Term{Kind: api.TeReturn})
 	return w.f
@@ -65,15 +65,23 @@ func (w *writer) drop(x *kind, p api.Place) {
 	}
 }
 
-// dropBox lets a Box go. While what it points to is let go, no address stands there: so Boxes in a circle come to a word that may not be used, and not to calls without an end.
+// dropBox lets a Box go.
 func (w *writer) dropBox(x *kind, p api.Place) {
-	at := api.Operand{N: w.load(then(p))}
+	at := w.wordAt(p)
 	if w.pointsToOwner(x) {
-		w.add(api.Instr{Op: api.OpStore, P: then(p), A: number(noAddress)})
+		w.mark(p, number(noAddress))
 		w.dropHeld(x.elem, at)
-		w.add(api.Instr{Op: api.OpStore, P: then(p), A: at})
+		w.mark(p, at)
 	}
-	w.free(at)
+	w.add(api.Instr{Op: api.OpFree, A: at})
+}
+
+// mark lays another word where a Box stands, and the Box there again, as around the letting go of what it points to: so Boxes in a circle come to a word that may not be used, and not to calls without an end.
+// That circle goes through functions that let go what a Box points to, wherever it was entered: it is enough that these do so.
+func (w *writer) mark(p api.Place, word api.Operand) {
+	if w.marks {
+		w.add(api.Instr{Op: api.OpStore, P: then(p), A: word})
+	}
 }
 
 // dropHeld lets the value go that stands at an address.
@@ -83,18 +91,28 @@ func (w *writer) dropHeld(x *kind, at api.Operand) {
 
 // dropElements lets those of an array go, one behind the other.
 func (w *writer) dropElements(x *kind, p api.Place) {
-	at, body, behind := w.newScalar(), w.newBlock(), w.newBlock()
+	at, body, behind := w.openLoop(), w.newBlock(), w.newBlock()
 	w.set(at, 0)
 	w.goOn(body)
 	w.drop(x.elem, then(p, api.Step{Kind: api.StIndex, N: at, Size: x.elem.words}))
 	w.add(api.Instr{Op: api.OpBin, Dst: at, A: api.Operand{N: at}, Text: "add", B: number(1)})
 	w.branch(w.ask(at, "slt", min(x.typ.N, math.MaxInt32)), body, behind)
 	w.block = behind
+	w.loops--
+}
+
+// openLoop tells the scalar that counts the turns of a loop within those that are being written.
+func (w *writer) openLoop() int {
+	if w.loops == len(w.turns) {
+		w.turns = append(w.turns, w.newScalar())
+	}
+	w.loops++
+	return w.turns[w.loops-1]
 }
 
 // dropVariant lets go what the variant has that an enum's first word tells.
 func (w *writer) dropVariant(lists []list, p api.Place) {
-	w.choose(lists, p, w.load(then(p)), w.newBlock())
+	w.choose(lists, p, w.load(p), w.newBlock())
 }
 
 // choose halves the variants till one is left: if it is not the one, and behind it, what is written goes on in a block behind them all.

@@ -53,7 +53,7 @@ func TestRefusedTypes(t *testing.T) {
 			"cleared":                  starts([]int{1}, give(0), empty(x, 0)),
 			"never there":              starts([]int{1}, empty(x, 0)),
 			"where nothing comes to":   fn("main", []int{1}, 0, 0, ends, block(jump(0), drop(x, at(0)))),
-			"behind what is no matter": starts([]int{1}, drop(boxed(u8), at(0)), empty(u8, 0), drop(x, at(0))),
+			"behind what is no matter": starts([]int{1}, drop(boxed(u8), at(0)), empty(u8, 0), drop(ty(api.TyMut, u8), at(0)), drop(ty(api.TyRef, u8), at(0)), drop(array(1, u8), at(0)), drop(x, at(0))),
 		} {
 			for _, l := range [][]api.Mir{{f}, {fn("f", nil, 0, 0, ends), f}} {
 				if out, e := drops.Elaborate(items, l); e != api.ErrForm || len(out) != 0 {
@@ -114,7 +114,7 @@ func TestNames(t *testing.T) {
 		alloc(0, 2), alloc(1, 1), store(at(0, held()), v(1)), drop(boxed(named(long+"n")), at(0)), alloc(0, 1), show(v(0)))}
 	wantAgree(t, items, l, nil)
 	out := elaborated(t, items, l)
-	if len(out) != 6 {
+	if len(out) != 4 {
 		t.Errorf("%d functions", len(out))
 	}
 	for _, f := range out[1:] {
@@ -306,7 +306,7 @@ func TestGreat(t *testing.T) {
 		list = append(list, drop(named(name), at(0)), drop(box, at(0)))
 	}
 	out = elaborated(t, items, []api.Mir{starts([]int{3}, slices.Repeat(list, 20)...)})
-	if len(out) != 3001 || len(out[0].Blocks[0].List) != 20*4*3000 {
+	if len(out) != 3001 || len(out[0].Blocks[0].List) != 20*7*3000 {
 		t.Errorf("%d functions, %d instructions", len(out), len(out[0].Blocks[0].List))
 	}
 }

@@ -6,6 +6,9 @@ import (
 	"ferrule/api"
 )
 
+// mostWork is how much may be done to let a value go right where it stands.
+const mostWork = 8
+
 // function tells a function in which nothing asks any more what locals hold.
 func (e *elaborator) function(f *api.Mir) api.Mir {
 	w := &writer{elaborator: e, f: *f}
@@ -90,38 +93,22 @@ func (r rewriter) clear(state int, in *api.Instr) {
 	}
 }
 
-// letGo lets the value go that stands at a place, which is worked out once, as letting go may change what it hangs on.
+// letGo lets the value go that stands at a place: right there, if not much is to be done, else by a function.
 func (w *writer) letGo(x *kind, p api.Place) {
-	if !w.owns(x) {
-		w.touch(p)
-		return
-	}
-	if lone, is := w.loneBox(x); is {
-		at := w.wordAt(on(p, lone.ahead))
-		if w.pointsToOwner(lone.kind) {
-			w.dropHeld(lone.kind.elem, at)
-		}
-		w.free(at)
-		return
-	}
-	at := w.theWord()
-	w.add(api.Instr{Op: api.OpAddr, Dst: at, P: then(p)})
-	w.dropHeld(x, api.Operand{N: at})
-}
-
-// touch uses what is used to come to a place. A value that owns nothing may stand anywhere, but not all words on the way may be used.
-func (w *writer) touch(p api.Place) {
-	if slices.ContainsFunc(p.Steps, func(s api.Step) bool { return s.Kind == api.StHeld }) {
+	reaches := slices.ContainsFunc(p.Steps, func(s api.Step) bool { return s.Kind == api.StHeld })
+	switch {
+	case !w.owns(x) && reaches:
+		// A value that owns nothing may stand anywhere, but not all words on the way there may be used.
 		w.add(api.Instr{Op: api.OpCopy, P: then(p), Q: then(p)})
+	case !w.owns(x):
+	case x.work > mostWork:
+		w.dropHeld(x, api.Operand{N: w.address(p)})
+	case reaches && !w.isLone(x):
+		// What is let go first may have words that the way to the others goes through.
+		w.drop(x, api.Place{Local: w.address(p), Steps: []api.Step{{Kind: api.StHeld}}})
+	default:
+		w.drop(x, p)
 	}
-}
-
-// wordAt tells the word at a place: a scalar is one itself.
-func (w *writer) wordAt(p api.Place) api.Operand {
-	if len(p.Steps) == 0 && w.f.Locals[p.Local] == 1 {
-		return api.Operand{N: p.Local}
-	}
-	return api.Operand{N: w.load(p)}
 }
 
 // copyOf is an instruction in new memory.

@@ -3,10 +3,12 @@ package drops_test
 import (
 	"reflect"
 	"slices"
+	"strings"
 	"testing"
 
 	"ferrule/api"
 	"ferrule/drops"
+	shown "ferrule/show"
 	"ferrule/types"
 )
 
@@ -71,36 +73,77 @@ func unsure(items []api.Item, f api.Mir) []int {
 	return out
 }
 
-// wantNoMore asks whether there are no more locals and functions than are needed, and tells how many locals are kept track of.
-func wantNoMore(t *testing.T, items []api.Item, l, out []api.Mir) int {
-	t.Helper()
-	flags, calls := 0, map[string]bool{}
-	for k, f := range l {
-		kept := unsure(items, f)
-		flags += len(kept)
-		if more := len(out[k].Locals) - len(f.Locals); more < len(kept) || more > len(kept)+1 {
-			t.Fatalf("%s: %d locals more, %d of which something is kept", f.Name, more, len(kept))
+// pointedTo tells the texts of all types that Boxes point to in values of those that functions let go.
+func pointedTo(items []api.Item, l []api.Mir) map[string]bool {
+	out, seen := map[string]bool{}, map[string]bool{}
+	var walk func(x api.Type)
+	walk = func(x api.Type) {
+		if seen[shown.Type(x)] || x.Kind == api.TyRef || x.Kind == api.TyMut {
+			return
 		}
-		asking := slices.ContainsFunc(f.Blocks, func(b api.Block) bool {
-			return slices.ContainsFunc(b.List, func(in api.Instr) bool { return asks(in.Op) })
-		})
-		if !asking && !reflect.DeepEqual(f, out[k]) {
-			t.Fatalf("%s: it does not stay as it is", f.Name)
+		seen[shown.Type(x)] = true
+		for _, e := range x.Elem {
+			out[shown.Type(e)] = out[shown.Type(e)] || x.Kind == api.TyBox
+			walk(e)
 		}
-		if len(kept) == 0 && len(out[k].Blocks) != len(f.Blocks) {
-			t.Fatalf("%s: %d blocks of %d", f.Name, len(out[k].Blocks), len(f.Blocks))
-		}
-	}
-	for _, f := range out {
-		for _, b := range f.Blocks {
-			for _, in := range b.List {
-				calls[in.Text] = true
+		for _, it := range items {
+			if x.Kind != api.TyNamed || it.Name != x.Name || it.Kind == api.ItFunc {
+				continue
+			}
+			for _, f := range it.Params {
+				walk(f.Type)
+			}
+			for _, v := range it.Variants {
+				for _, part := range v.Types {
+					walk(part)
+				}
 			}
 		}
 	}
+	for _, f := range l {
+		for _, b := range f.Blocks {
+			for _, in := range b.List {
+				if in.Op == api.OpDrop || in.Op == api.OpClear {
+					walk(in.Type)
+				}
+			}
+		}
+	}
+	return out
+}
+
+// wantNoMore asks whether there are no more locals and functions than are needed, of values that have not very many Boxes, and tells of how many locals something is kept.
+func wantNoMore(t *testing.T, items []api.Item, l, out []api.Mir) int {
+	t.Helper()
+	flags := 0
+	for k, f := range l {
+		kept := unsure(items, f)
+		flags += len(kept)
+		asking, rich := false, false
+		for _, b := range f.Blocks {
+			for _, in := range b.List {
+				asking = asking || asks(in.Op)
+				rich = rich || (in.Op == api.OpDrop || in.Op == api.OpClear) && in.Type.Kind >= api.TyNamed && in.Type.Kind != api.TyBox
+			}
+		}
+		most := 1 // for a Box's address
+		if rich {
+			most = 5 // for that of a value, too, what is asked of its words, and loops
+		}
+		if more := len(out[k].Locals) - len(f.Locals); more < len(kept) || more > len(kept)+most {
+			t.Fatalf("%s: %d locals more, %d of which something is kept", f.Name, more, len(kept))
+		}
+		if !asking && !reflect.DeepEqual(f, out[k]) {
+			t.Fatalf("%s: it does not stay as it is", f.Name)
+		}
+		if len(kept) == 0 && !rich && len(out[k].Blocks) != len(f.Blocks) {
+			t.Fatalf("%s: %d blocks of %d", f.Name, len(out[k].Blocks), len(f.Blocks))
+		}
+	}
+	texts := pointedTo(items, l)
 	for _, f := range out[len(l):] {
-		if !calls[f.Name] {
-			t.Fatalf("nobody calls %s", f.Name)
+		if !texts[strings.TrimPrefix(f.Name, "drop ")] {
+			t.Fatalf("%q lets nothing go that a Box points to", f.Name)
 		}
 	}
 	return flags
@@ -211,7 +254,7 @@ func TestExample(t *testing.T) {
 // What is told of each operation, wholly.
 func TestForms(t *testing.T) {
 	box := boxed(u8)
-	items := []api.Item{structure("Inner", u8, box), structure("Outer", u8, named("Inner")), structure("Thin", ty(api.TyUnit), array(1, box)), structure("Plain", u8, ty(api.TyMut, box), array(0, box)), enum("Choice", nil, of(u8, named("Plain")))}
+	items := []api.Item{structure("Inner", u8, box), structure("Outer", u8, named("Inner")), structure("Thin", ty(api.TyUnit), array(1, box)), structure("Two", box, u8, box), structure("Ten", slices.Repeat(of(box), 10)...), structure("Plain", u8, ty(api.TyMut, box), array(0, box)), enum("Choice", nil, of(u8, named("Plain")))}
 	for _, c := range []struct {
 		what   string
 		locals []int
@@ -226,10 +269,12 @@ func TestForms(t *testing.T) {
 		{"a Box that something points to", []int{1}, drop(box, at(0, held())), []api.Instr{load(1, at(0, held())), free(v(1))}, 1},
 		{"a Box by an index", []int{4, 1}, drop(box, at(0, times(1, 1))), []api.Instr{load(2, at(0, times(1, 1))), free(v(2))}, 1},
 		{"a part", []int{3}, drop(named("Inner"), at(0)), []api.Instr{load(1, at(0, step(1))), free(v(1))}, 1},
-		{"a part of a part", []int{1}, drop(array(1, named("Outer")), at(0, held())), []api.Instr{load(1, at(0, held(), step(2))), free(v(1))}, 1},
+		{"a part of a part", []int{1}, drop(array(1, named("Outer")), at(0, held())), []api.Instr{load(1, at(0, held(), step(1), step(1))), free(v(1))}, 1},
 		{"a Box of a Box", []int{1}, drop(boxed(box), at(0)), []api.Instr{calls(nil, "drop Box<u8>", v(0)), free(v(0))}, 0},
 		{"a part's Box of a Box", []int{2}, drop(boxed(named("Outer")), at(0, step(1))), []api.Instr{load(1, at(0, step(1))), calls(nil, "drop Outer", v(1)), free(v(1))}, 1},
-		{"two Boxes", []int{2}, drop(array(2, box), at(0)), []api.Instr{addr(1, at(0)), calls(nil, "drop [Box<u8>; 2]", v(1))}, 1},
+		{"two Boxes", []int{3}, drop(named("Two"), at(0)), []api.Instr{load(1, at(0)), free(v(1)), load(1, at(0, step(2))), free(v(1))}, 1},
+		{"two Boxes that something points to", []int{3}, drop(named("Two"), at(0, step(1), held())), []api.Instr{addr(1, at(0, step(1), held())), load(2, at(1, held())), free(v(2)), load(2, at(1, held(), step(2))), free(v(2))}, 2},
+		{"very many Boxes", []int{20}, drop(named("Ten"), at(0, step(1))), []api.Instr{addr(1, at(0, step(1))), calls(nil, "drop Ten", v(1))}, 1},
 		{"what owns nothing", []int{2}, drop(u8, at(0, step(1))), nil, 0},
 		{"a struct that owns nothing", []int{2}, drop(named("Plain"), at(0)), nil, 0},
 		{"an enum that owns nothing", []int{4}, drop(named("Choice"), at(0)), nil, 0},
@@ -239,7 +284,7 @@ func TestForms(t *testing.T) {
 	} {
 		l := []api.Mir{starts(c.locals, show(n(1)), c.in, show(n(2)))}
 		out := elaborated(t, items, l)
-		want := starts(slices.Concat(c.locals, []int{1}[:c.more]), slices.Concat([]api.Instr{show(n(1))}, c.want, []api.Instr{show(n(2))})...)
+		want := starts(slices.Concat(c.locals, []int{1, 1}[:c.more]), slices.Concat([]api.Instr{show(n(1))}, c.want, []api.Instr{show(n(2))})...)
 		if !reflect.DeepEqual(plain(out[0]), plain(want)) {
 			t.Errorf("%s: %+v, not %+v", c.what, out[0], want)
 		}
@@ -264,15 +309,27 @@ func plain(f api.Mir) api.Mir {
 	return f
 }
 
-// One scalar does for all that is let go in a function.
-func TestOneScalar(t *testing.T) {
-	var list []api.Instr
-	for k := range 50 {
-		list = append(list, drop(boxed(u8), at(0, step(k))), drop(named("Pair"), at(0, step(k))))
+// The same scalars do for all that is let go in a function.
+func TestScalarsAreUsedAgain(t *testing.T) {
+	many := append(kinds(), structure("Ten", slices.Repeat(of(boxed(u8)), 10)...))
+	for _, c := range []struct {
+		what string
+		x    api.Type
+		p    api.Place
+		more int
+	}{
+		{"a Box", boxed(u8), at(0), 1}, {"two Boxes", named("Pair"), at(0), 1}, {"two Boxes by an address", named("Pair"), at(0, held()), 2}, {"very many", named("Ten"), at(0, held()), 1}, {"an array", array(3, boxed(u8)), at(0), 3}, {"arrays in arrays", array(2, array(3, array(2, boxed(u8)))), at(0, held()), 6}, {"an enum", named("List"), at(0), 2}, {"an array of enums", array(2, named("List")), at(0), 3},
+	} {
+		out := elaborated(t, many, []api.Mir{starts([]int{128}, slices.Repeat([]api.Instr{drop(c.x, c.p)}, 50)...)})
+		if more := len(out[0].Locals) - 1; more != c.more {
+			t.Errorf("%s: %d locals more", c.what, more)
+		}
 	}
-	out := elaborated(t, mixedItems(), []api.Mir{starts([]int{128}, list...)})
-	if len(out) != 2 || len(out[0].Locals) != 2 || len(out[0].Blocks) != 1 || len(out[0].Blocks[0].List) != 200 {
-		t.Errorf("%d functions, %v locals, %d blocks", len(out), out[0].Locals, len(out[0].Blocks))
+	// Of loops one behind the other one scalar counts the turns, in a function of its own too.
+	items := []api.Item{structure("S", array(2, boxed(u8)), array(3, array(2, boxed(u8))), array(4, boxed(u8)))}
+	out := elaborated(t, items, []api.Mir{starts([]int{1}, drop(boxed(named("S")), at(0)))})
+	if len(out) != 2 || len(out[1].Locals) != 1+2+2 {
+		t.Errorf("%d functions, %v", len(out), out[1].Locals)
 	}
 }
 
@@ -285,7 +342,7 @@ func TestFunctionsAreShared(t *testing.T) {
 		names = append(names, f.Name)
 	}
 	slices.Sort(names)
-	if want := []string{"drop Box<i32>", "drop L", "drop Q", "drop [Box<Box<i32>>; 2]"}; !slices.Equal(names, want) {
+	if want := []string{"drop Box<i32>", "drop L", "drop Q"}; !slices.Equal(names, want) {
 		t.Errorf("%q, not %q", names, want)
 	}
 }

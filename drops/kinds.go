@@ -23,7 +23,7 @@ type kind struct {
 	long  int   // its text has no more bytes
 
 	opened bool // what stands below is worked out
-	owns   bool // there is something in its values that is let go with them
+	work   int  // Boxes of a value, lists and arrays, each once, that are gone through to let it go; 0: it owns nothing
 	enum   bool
 	lists  []list // of a struct, its fields, alone; of an enum, its variants: those that own something
 
@@ -84,7 +84,7 @@ func (k kinds) of(t *api.Type) *kind {
 }
 
 // owns tells whether there is something in a kind's values that is let go with them.
-func (k kinds) owns(x *kind) bool { return k.open(x).owns }
+func (k kinds) owns(x *kind) bool { return k.open(x).work > 0 }
 
 // open works out what a kind's values own. That is asked only once it is needed, as what a Box points to may have such a Box itself.
 func (k kinds) open(x *kind) *kind {
@@ -94,18 +94,30 @@ func (k kinds) open(x *kind) *kind {
 	x.opened = true
 	switch x.typ.Kind {
 	case api.TyBox:
-		x.owns = true
+		x.work = 1
 	case api.TyArray:
 		// Elements have a place only if their words are known.
-		x.owns = x.typ.N > 0 && x.elem != nil && x.elem.sized && k.owns(x.elem)
+		if x.typ.N > 0 && x.elem != nil && x.elem.sized && k.owns(x.elem) {
+			x.work = 1 + x.elem.work
+		}
 	case api.TyNamed:
 		if at, is := k.where[x.typ.Name]; is {
 			x.enum = k.items[at].Kind == api.ItEnum
 			x.lists = k.lists(&k.items[at])
-			x.owns = len(x.lists) > 0
+		}
+		for _, l := range x.lists {
+			x.work += 1 + l.work()
 		}
 	}
 	return x
+}
+
+func (l list) work() int {
+	sum := 0
+	for _, p := range l.parts {
+		sum += p.kind.work
+	}
+	return sum
 }
 
 // lists tells what a struct or an enum has that owns something.
@@ -146,17 +158,13 @@ func (k kinds) parts(ahead, count int, typ func(at int) *api.Type) []part {
 // pointsToOwner tells whether a Box points to something that owns something itself.
 func (k kinds) pointsToOwner(box *kind) bool { return box.elem != nil && k.owns(box.elem) }
 
-// loneBox tells where the one Box stands in the values of a kind that have no more than one, and always have it.
-func (k kinds) loneBox(x *kind) (part, bool) {
+// isLone tells whether one Box is all that is let go with a value of a kind, and is there whatever stands in the value.
+func (k kinds) isLone(x *kind) bool {
 	switch k.open(x); {
 	case x.typ.Kind == api.TyBox:
-		return part{0, x}, true
-	case x.typ.Kind == api.TyArray && x.typ.N == 1:
-		return k.loneBox(x.elem)
-	case len(x.lists) == 1 && !x.enum && len(x.lists[0].parts) == 1:
-		outer := x.lists[0].parts[0]
-		inner, is := k.loneBox(outer.kind)
-		return part{outer.ahead + inner.ahead, inner.kind}, is
+		return true
+	case x.typ.Kind == api.TyArray:
+		return x.typ.N == 1 && k.isLone(x.elem)
 	}
-	return part{}, false
+	return len(x.lists) == 1 && !x.enum && len(x.lists[0].parts) == 1 && k.isLone(x.lists[0].parts[0].kind)
 }

@@ -82,9 +82,9 @@ func TestDeepestCall(t *testing.T) {
 	body := []api.Block{
 		block(branch(v(0), 1, 2)),
 		block(answer(), bin(0, v(0), "sub", n(1)), calls(nil, "deep", v(0))),
-		block(answer(), alloc(1, 1), give(1), alloc(2, 1), drop(boxed(u8), at(2)), empty(boxed(u8), 1), show(n(7))),
+		block(answer(), alloc(1, 1), give(1), alloc(2, 1), drop(boxed(u8), at(2)), empty(boxed(u8), 1), alloc(1, 1), store(at(3), v(1)), alloc(1, 1), store(at(3, step(2)), v(1)), drop(named("Pair"), at(3)), show(n(7))),
 	}
-	deep := quiet(fn("deep", []int{1, 1, 1}, 1, 0, body...))
-	comes(t, "at the last call", api.OutExit, 0, []int{7}, nil, starts([]int{1}, calls(nil, "deep", n(4*api.MaxDepth+200-2))), deep)
-	comes(t, "a call more", api.OutDepth, 0, nil, nil, starts([]int{1}, calls(nil, "deep", n(4*api.MaxDepth+200-1))), deep)
+	deep := quiet(fn("deep", []int{1, 1, 1, 3}, 1, 0, body...))
+	comes(t, "at the last call", api.OutExit, 0, []int{7}, mixedItems(), starts([]int{1}, calls(nil, "deep", n(4*api.MaxDepth+200-2))), deep)
+	comes(t, "a call more", api.OutDepth, 0, nil, mixedItems(), starts([]int{1}, calls(nil, "deep", n(4*api.MaxDepth+200-1))), deep)
 }

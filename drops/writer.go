@@ -13,9 +13,12 @@ const mostOn = 1 << 16
 type writer struct {
 	*elaborator
 	f     api.Mir
-	block int // what is written comes to its end
-	// Scalars for a word of a value, and for what is asked of it. 0: there is none yet, as a function that lets something go has a local ahead of them.
-	word, test int
+	block int  // what is written comes to its end
+	marks bool // no address stands in a Box while what it points to is let go
+	// Scalars for a value's address, for a word of it, and for what is asked of that. 0: there is none yet, as a function that lets something go has a local ahead of them.
+	base, word, test int
+	turns            []int // scalars that count the turns of loops within one another
+	loops            int   // how many of these are being written
 }
 
 func (w *writer) add(list ...api.Instr) {
@@ -48,37 +51,43 @@ func (w *writer) newScalar() int {
 	return len(w.f.Locals) - 1
 }
 
-func (w *writer) theWord() int {
-	if w.word == 0 {
-		w.word = w.newScalar()
+// scratch tells one of the scalars that are used again and again, and makes it where it is used first.
+func (w *writer) scratch(which *int) int {
+	if *which == 0 {
+		*which = w.newScalar()
 	}
-	return w.word
-}
-
-func (w *writer) theTest() int {
-	if w.test == 0 {
-		w.test = w.newScalar()
-	}
-	return w.test
+	return *which
 }
 
 // load loads the word at a place, and tells which scalar it is then.
 func (w *writer) load(p api.Place) int {
-	w.add(api.Instr{Op: api.OpLoad, Dst: w.theWord(), P: p})
+	w.add(api.Instr{Op: api.OpLoad, Dst: w.scratch(&w.word), P: then(p)})
 	return w.word
+}
+
+// wordAt tells the word at a place: a scalar is one itself.
+func (w *writer) wordAt(p api.Place) api.Operand {
+	if len(p.Steps) == 0 && w.f.Locals[p.Local] == 1 {
+		return api.Operand{N: p.Local}
+	}
+	return api.Operand{N: w.load(p)}
+}
+
+// address tells which scalar has the address of a place.
+func (w *writer) address(p api.Place) int {
+	w.add(api.Instr{Op: api.OpAddr, Dst: w.scratch(&w.base), P: then(p)})
+	return w.base
 }
 
 // ask asks something of a scalar and a number, and tells which scalar is 0 then, if it is not so.
 func (w *writer) ask(scalar int, op string, n int) int {
-	w.add(api.Instr{Op: api.OpBin, Dst: w.theTest(), A: api.Operand{N: scalar}, Text: op, B: number(n)})
+	w.add(api.Instr{Op: api.OpBin, Dst: w.scratch(&w.test), A: api.Operand{N: scalar}, Text: op, B: number(n)})
 	return w.test
 }
 
 func (w *writer) set(scalar, n int) {
 	w.add(api.Instr{Op: api.OpSet, Dst: scalar, A: number(n)})
 }
-
-func (w *writer) free(at api.Operand) { w.add(api.Instr{Op: api.OpFree, A: at}) }
 
 func number(n int) api.Operand { return api.Operand{Const: true, N: n} }
 
