@@ -171,3 +171,51 @@ func TestValuesByChance(t *testing.T) {
 		t.Errorf("%d values, %d Boxes", made, boxes)
 	}
 }
+
+// Words made by chance are let go as values of types made by chance, which need not have an end: the runs agree, whether they may go on or not.
+func TestWordsByChance(t *testing.T) {
+	seen := map[int]int{}
+	for seed := range int64(6000) {
+		c := &crafter{Rand: rand.New(rand.NewSource(seed))}
+		c.makeItems()
+		x := boxed(c.typ(0))
+		if words, sized := types.Words(c.items, x.Elem[0]); !sized && c.Intn(4) > 0 || sized && words == 0 {
+			continue
+		}
+		const blocks = 14
+		var list []api.Instr
+		for k := range blocks {
+			list = append(list, alloc(0, []int{4, 4, 4, 16}[c.Intn(4)]), store(at(1, step(k)), v(0)))
+		}
+		// Each block is pointed to once, as long as there is one left; some are pointed to twice, or not at all.
+		left := c.Perm(blocks)
+		for k := range blocks {
+			for at0 := range 4 {
+				to := at(1, step(k), held(), step(at0))
+				switch {
+				case len(left) > 0 && c.Intn(2) == 0:
+					list = append(list, load(0, at(1, step(left[0]))), store(to, v(0)))
+					left = left[1:]
+				case c.Intn(30) == 0:
+					list = append(list, load(0, at(1, step(c.Intn(blocks)))), store(to, v(0)))
+				default:
+					list = append(list, store(to, n(c.Intn(4))))
+				}
+			}
+		}
+		list = append(list, show(n(1)), drop(x, at(1)))
+		for range 8 {
+			list = append(list, alloc(0, 4), show(v(0)), alloc(0, 16), show(v(0)))
+		}
+		l := []api.Mir{starts([]int{1, blocks}, list...)}
+		out := elaborated(t, c.items, l)
+		want, _ := mir.Run(c.items, l, nil, plenty)
+		if got, _ := mir.Run(c.items, out, nil, plenty); !alike(got, want) {
+			t.Fatalf("seed %d: %v, not %v: %v of %+v", seed, got, want, x, c.items)
+		}
+		seen[want.Kind]++
+	}
+	if seen[api.OutExit] < 1000 || seen[api.OutTrap] < 300 {
+		t.Error(seen)
+	}
+}
