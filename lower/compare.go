@@ -4,15 +4,15 @@ import "ferrule/api"
 
 // compare lets ends ask themselves what comparisons right ahead of them tell.
 func (m *lowering) compare() {
-	needed := newNeeds(&m.out)
+	words := newLater(&m.out)
 	for k := range m.out.Blocks {
-		for m.asksItself(k, needed) {
+		for m.asksItself(k, words) {
 		}
 	}
 }
 
 // asksItself lets a block's end ask what its word was asked for right ahead, if nothing else needs that word; false: it is not so. (Then it may still be a word that was made right ahead, where one was held against 0.)
-func (m *lowering) asksItself(block int, needed *needs) bool {
+func (m *lowering) asksItself(block int, words *later) bool {
 	b := &m.out.Blocks[block]
 	last := len(b.List) - 1
 	if last < 0 || b.Term.Kind != api.TeIf || b.Term.Text != "ne" || b.Term.B != api.RegZero {
@@ -20,7 +20,7 @@ func (m *lowering) asksItself(block int, needed *needs) bool {
 	}
 	made := b.List[last]
 	asks := m.asked(made)
-	if asks == "" || b.Term.A != made.D || needed.behind(block, made.D) {
+	if asks == "" || b.Term.A != made.D || words.behind(block, made.D) {
 		return false
 	}
 	b.List = b.List[:last]

@@ -1,6 +1,9 @@
 package lower
 
-import "ferrule/api"
+import (
+	"ferrule/api"
+	"ferrule/needs"
+)
 
 const wordBytes = 4
 
@@ -223,6 +226,6 @@ func (m *lowering) term(t *api.Term) {
 // resolve lets ends go to blocks instead of labels.
 func (m *lowering) resolve() {
 	for k := range m.out.Blocks {
-		eachGoal(&m.out.Blocks[k].Term, func(to *int) { *to = m.labels[*to] })
+		needs.EachGoal(&m.out.Blocks[k].Term, func(to *int) { *to = m.labels[*to] })
 	}
 }

@@ -5,12 +5,13 @@ import (
 	"slices"
 
 	"ferrule/api"
+	"ferrule/needs"
 )
 
 // mostRegs is how many registers a function may have.
 const mostRegs = 1 << 16
 
-// span is from where to where a register is in use; positions are counted block by block: a block's beginning, its instructions, its end.
+// span is from where to where a register is in use, by positions.
 type span struct{ reg, from, to int }
 
 // share lets registers that are never in use at one time be one, so that a function that needs more of them than there may be, one behind the other, has enough.
@@ -18,14 +19,14 @@ func share(f *api.LowFunc) {
 	names := make([]int, f.Regs)
 	f.Regs = named(spans(f), names)
 	other := func(reg *int) { *reg = names[*reg] }
-	eachOf(f.Params, other)
+	needs.EachOf(f.Params, other)
 	for k := range f.Blocks {
 		b := &f.Blocks[k]
 		for at := range b.List {
-			eachRead(&b.List[at], other)
-			eachSet(&b.List[at], other)
+			needs.EachRead(&b.List[at], other)
+			needs.EachSet(&b.List[at], other)
 		}
-		eachEndRead(&b.Term, other)
+		needs.EachEndRead(&b.Term, other)
 	}
 }
 
@@ -61,40 +62,12 @@ func spans(f *api.LowFunc) []span {
 	for reg := range all {
 		all[reg] = span{reg, -1, -1}
 	}
-	use := func(reg, at int) {
+	needs.EachPosition(f, func(reg, at int) {
 		s := &all[reg]
 		if s.from < 0 {
 			s.from = at
 		}
 		s.from, s.to = min(s.from, at), max(s.to, at)
-	}
-	for _, reg := range f.Params {
-		use(reg, 0)
-	}
-	begins, ends := positions(f, use)
-	n := newNeeds(f)
-	for reg := range all {
-		n.walk(reg, func(block int) { use(reg, begins[block]) }, func(block int) { use(reg, ends[block]) })
-	}
+	})
 	return slices.DeleteFunc(all, func(s span) bool { return s.from < 0 })
-}
-
-// positions tells where blocks begin and end, and where each register is read or set.
-func positions(f *api.LowFunc, use func(reg, at int)) (begins, ends []int) {
-	at := 0
-	here := func(reg *int) { use(*reg, at) }
-	for k := range f.Blocks {
-		b := &f.Blocks[k]
-		begins = append(begins, at)
-		for i := range b.List {
-			at++
-			eachRead(&b.List[i], here)
-			eachSet(&b.List[i], here)
-		}
-		at++
-		eachEndRead(&b.Term, here)
-		ends = append(ends, at)
-		at++
-	}
-	return begins, ends
 }
